@@ -218,6 +218,7 @@ func TestP7_1NewRefusesTypes(t *testing.T) {
 		{"Most above 15", api.Spec{Name: "a", Most: 16}, api.ErrArg},
 		{"the greatest Most", api.Spec{Name: "a", Most: math.MaxInt}, api.ErrArg},
 		{"a leaf with an expression", api.Spec{Name: "a", Leaf: true, Expr: "text"}, api.ErrArg},
+		{"a leaf with blanks", api.Spec{Name: "a", Leaf: true, Expr: " "}, api.ErrArg},
 		{"a wrong mark ahead of a wrong expression", api.Spec{Name: "a", Expr: "(", Marks: 8}, api.ErrArg},
 	} {
 		for _, l := range [][]api.Spec{{x.spec}, {{Name: "x"}, x.spec}, {x.spec, {Name: "x"}}} {
