@@ -9,40 +9,9 @@ import (
 	"emender/api"
 	"emender/flat"
 	"emender/pos"
+	"emender/sample"
 	"emender/schema"
 )
-
-// tokens answers those of a text: < opens a para, # a head, ( a quote, ` a block of code, [ a list, { an item, > ) ' ] } end, _ is a rule, ! a wrong token; B is a b that is Strong; others are themselves.
-func tokens(s string) []api.Token {
-	var l []api.Token
-	for _, c := range s {
-		switch c {
-		case '<':
-			l = append(l, api.Token{K: api.TOpen, T: api.Para})
-		case '#':
-			l = append(l, api.Token{K: api.TOpen, T: api.Head, N: 1})
-		case '(':
-			l = append(l, api.Token{K: api.TOpen, T: api.Quote})
-		case '`':
-			l = append(l, api.Token{K: api.TOpen, T: api.Block})
-		case '[':
-			l = append(l, api.Token{K: api.TOpen, T: api.List})
-		case '{':
-			l = append(l, api.Token{K: api.TOpen, T: api.Item})
-		case '>', ')', '\'', ']', '}':
-			l = append(l, api.Token{K: api.TClose})
-		case '_':
-			l = append(l, api.Token{K: api.TLeaf, T: api.Rule})
-		case '!':
-			l = append(l, api.Token{N: -1})
-		case 'B':
-			l = append(l, api.Token{N: 'b', M: api.Strong})
-		default:
-			l = append(l, api.Token{N: int(c)})
-		}
-	}
-	return l
-}
 
 // made answers the schema of a whole, a type of what stands in row, which is 1, and a leaf dot, which is 2.
 func made(t *testing.T, whole string, row string) *schema.Schema {
@@ -129,7 +98,7 @@ func TestText(t *testing.T) {
 		{"_<>_", []int{2}},
 		{"[{<>}{_<a>}]", []int{3, 8, 9}},
 	} {
-		l := tokens(x.s)
+		l := sample.Tokens(x.s)
 		for at := range len(l) + 1 {
 			if is, e := Text(c, l, at); is != slices.Contains(x.want, at) || e != api.OK {
 				t.Errorf("Text(%s, %d): %v, %d", x.s, at, is, e)
@@ -167,14 +136,14 @@ func TestNear(t *testing.T) {
 		{"<a>____", 7, 1, 2},
 		{"_((<a>))", 0, -1, 4},
 	} {
-		if p, e := Near(c, tokens(x.s), x.at, x.side); p != x.want || e != api.OK {
+		if p, e := Near(c, sample.Tokens(x.s), x.at, x.side); p != x.want || e != api.OK {
 			t.Errorf("Near(%s, %d, %d): %d, %d; want %d", x.s, x.at, x.side, p, e, x.want)
 		}
 	}
 	for _, s := range []string{"_", "___", "(_)", "[{_}{__}]"} {
 		for at := range len(s) + 1 {
 			for _, side := range sides() {
-				if p, e := Near(c, tokens(s), at, side); p != 0 || e != api.ErrNone {
+				if p, e := Near(c, sample.Tokens(s), at, side); p != 0 || e != api.ErrNone {
 					t.Errorf("Near(%s, %d, %d): %d, %d", s, at, side, p, e)
 				}
 			}
@@ -226,7 +195,7 @@ func TestMove(t *testing.T) {
 		{"<ab>", 4, 0, 4},
 		{"__", 1, 0, 1},
 	} {
-		if p, e := Move(c, tokens(x.s), x.at, x.by); p != x.want || e != api.OK {
+		if p, e := Move(c, sample.Tokens(x.s), x.at, x.by); p != x.want || e != api.OK {
 			t.Errorf("Move(%s, %d, %d): %d, %d; want %d", x.s, x.at, x.by, p, e, x.want)
 		}
 	}
@@ -268,7 +237,7 @@ func TestRefusals(t *testing.T) {
 		{c, "", -1, api.ErrValid},
 		{c, long, -1, api.ErrLong},
 	} {
-		l := tokens(x.s)
+		l := sample.Tokens(x.s)
 		if is, e := Text(x.c, l, x.at); is || e != x.want {
 			t.Errorf("Text(%.20s, %d): %v, %d; want %d", x.s, x.at, is, e, x.want)
 		}
@@ -285,7 +254,7 @@ func TestRefusals(t *testing.T) {
 
 func TestAtTheLimits(t *testing.T) {
 	c := schema.House()
-	full := tokens("<" + strings.Repeat("a", api.MaxDoc-2) + ">")
+	full := sample.Tokens("<" + strings.Repeat("a", api.MaxDoc-2) + ">")
 	for _, x := range [][3]int{{0, math.MaxInt, api.MaxDoc - 1}, {api.MaxDoc, math.MinInt, 1}, {1, 1000, 1001}, {api.MaxDoc, -1000, api.MaxDoc - 1000}, {api.MaxDoc, 0, api.MaxDoc}} {
 		if p, e := Move(c, full, x[0], x[1]); p != x[2] || e != api.OK {
 			t.Errorf("Move(%d, %d): %d, %d; want %d", x[0], x[1], p, e, x[2])
@@ -298,11 +267,11 @@ func TestAtTheLimits(t *testing.T) {
 	if _, e := Text(c, full, api.MaxDoc+1); e != api.ErrArg {
 		t.Errorf("Text: %d", e)
 	}
-	rules := tokens(strings.Repeat("_", api.MaxDoc-2) + "<>")
+	rules := sample.Tokens(strings.Repeat("_", api.MaxDoc-2) + "<>")
 	if p, e := Near(c, rules, 0, -1); p != api.MaxDoc-1 || e != api.OK {
 		t.Errorf("Near: %d, %d", p, e)
 	}
-	deep := tokens(strings.Repeat("(", api.MaxDeep-1) + "<>" + strings.Repeat(")", api.MaxDeep-1))
+	deep := sample.Tokens(strings.Repeat("(", api.MaxDeep-1) + "<>" + strings.Repeat(")", api.MaxDeep-1))
 	if p, e := Near(c, deep, 0, -1); p != api.MaxDeep || e != api.OK {
 		t.Errorf("Near: %d, %d", p, e)
 	}
@@ -332,23 +301,6 @@ func TestEmptyDocument(t *testing.T) {
 			}
 		}
 	}
-}
-
-// rows answers all rows of at most most tokens of alphabet.
-func rows(alphabet []api.Token, most int) [][]api.Token {
-	all := [][]api.Token{nil}
-	last := all
-	for range most {
-		var next [][]api.Token
-		for _, l := range last {
-			for _, one := range alphabet {
-				next = append(next, append(slices.Clone(l), one))
-			}
-		}
-		all = append(all, next...)
-		last = next
-	}
-	return all
 }
 
 // holds fails where a call answers of l other than what the chapter's words say.
@@ -392,7 +344,7 @@ func TestAllShortDocuments(t *testing.T) {
 		{"dot text? dot row? text?", "text+"},
 	} {
 		c, valid := made(t, x[0], x[1]), 0
-		for _, l := range rows(alphabet, 5) {
+		for _, l := range sample.Rows(alphabet, 5) {
 			if _, e := c.Check(l); e == api.OK {
 				holds(t, c, l)
 				valid++
@@ -406,14 +358,14 @@ func TestAllShortDocuments(t *testing.T) {
 
 func TestAllShortDocumentsOfTheHouse(t *testing.T) {
 	c, valid := schema.House(), 0
-	for _, l := range rows(tokens("a<(_>"), 6) {
+	for _, l := range sample.Rows(sample.Tokens("a<(_>"), 6) {
 		if _, e := c.Check(l); e == api.OK {
 			holds(t, c, l)
 			valid++
 		}
 	}
 	for _, s := range []string{"<ab>(<c>)", "[{<a>}{_<>}]__<B>", "___#a>(_`\n')___", "(((_)))<>_((_))"} {
-		holds(t, c, tokens(s))
+		holds(t, c, sample.Tokens(s))
 	}
 	if valid < 20 {
 		t.Errorf("only %d documents", valid)
@@ -422,14 +374,14 @@ func TestAllShortDocumentsOfTheHouse(t *testing.T) {
 
 func TestArgumentsStay(t *testing.T) {
 	c := schema.House()
-	l := append(make([]api.Token, 0, 32), tokens("<ab>(<c>)_")...)
+	l := append(make([]api.Token, 0, 32), sample.Tokens("<ab>(<c>)_")...)
 	for at := range len(l) + 1 {
 		Text(c, l, at)
 		Near(c, l, at, 1)
 		Move(c, l, at, 3)
 		Move(c, l, at, -3)
 	}
-	if !flat.Same(l[:12], append(tokens("<ab>(<c>)_"), api.Token{}, api.Token{})) {
+	if !flat.Same(l[:12], append(sample.Tokens("<ab>(<c>)_"), api.Token{}, api.Token{})) {
 		t.Errorf("what was handed in is changed: %v", l[:12])
 	}
 	m := append(make([]api.Range, 0, 4), api.Range{At: 1, Old: 2, New: 3})

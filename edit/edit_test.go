@@ -10,58 +10,19 @@ import (
 	"emender/api"
 	"emender/flat"
 	"emender/mark"
+	"emender/sample"
 	"emender/schema"
 	"emender/step"
 )
 
-// tokens answers those of a text: < opens a para, # a head, ( a quote, ` a block of code, [ a list, { an item, > ) ' ] } end, _ is a rule, ! a wrong token; B is a b that is Strong, E an e that is Em, C a c that is Code; others are themselves.
-func tokens(s string) []api.Token {
-	var l []api.Token
-	for _, c := range s {
-		switch c {
-		case '<':
-			l = append(l, open(api.Para, 0))
-		case '#':
-			l = append(l, open(api.Head, 1))
-		case '(':
-			l = append(l, open(api.Quote, 0))
-		case '`':
-			l = append(l, open(api.Block, 0))
-		case '[':
-			l = append(l, open(api.List, 0))
-		case '{':
-			l = append(l, open(api.Item, 0))
-		case '>', ')', '\'', ']', '}':
-			l = append(l, api.Token{K: api.TClose})
-		case '_':
-			l = append(l, api.Token{K: api.TLeaf, T: api.Rule})
-		case '!':
-			l = append(l, api.Token{N: -1})
-		case 'B':
-			l = append(l, api.Token{N: 'b', M: api.Strong})
-		case 'E':
-			l = append(l, api.Token{N: 'e', M: api.Em})
-		case 'C':
-			l = append(l, api.Token{N: 'c', M: api.Code})
-		default:
-			l = append(l, api.Token{N: int(c)})
-		}
-	}
-	return l
-}
-
-func open(t int, n int) api.Token {
-	return api.Token{K: api.TOpen, T: t, N: n}
-}
-
 // put answers the SReplace with the tokens of a text.
 func put(from int, to int, s string) api.Step {
-	return api.Step{K: api.SReplace, From: from, To: to, Slice: tokens(s)}
+	return api.Step{K: api.SReplace, From: from, To: to, Slice: sample.Tokens(s)}
 }
 
 // gap answers the SAround with the tokens of two texts.
 func gap(from int, to int, gapFrom int, gapTo int, ahead string, behind string) api.Step {
-	return api.Step{K: api.SAround, From: from, To: to, GapFrom: gapFrom, GapTo: gapTo, Slice: tokens(ahead + behind), Insert: len(tokens(ahead))}
+	return api.Step{K: api.SAround, From: from, To: to, GapFrom: gapFrom, GapTo: gapTo, Slice: sample.Tokens(ahead + behind), Insert: len(sample.Tokens(ahead))}
 }
 
 // told fails unless a command has told the step want, which makes the document then of s.
@@ -71,7 +32,7 @@ func told(t *testing.T, s string, then string, want api.Step, got api.Step, e ap
 		t.Errorf("%s: %v, %d; want %v", s, got, e, want)
 		return
 	}
-	if l, e := step.Apply(tokens(s), got); !flat.Same(l, tokens(then)) || e != api.OK {
+	if l, e := step.Apply(sample.Tokens(s), got); !flat.Same(l, sample.Tokens(then)) || e != api.OK {
 		t.Errorf("%s: makes %v, %d; want %s", s, l, e, then)
 	}
 }
@@ -102,7 +63,7 @@ func TestInsert(t *testing.T) {
 		{"`a'", 2, "\n", "`a\n'"},
 		{"[{#>}]", 3, "x", "[{#x>}]"},
 	} {
-		s, e := Insert(c, tokens(x.s), x.at, tokens(x.text))
+		s, e := Insert(c, sample.Tokens(x.s), x.at, sample.Tokens(x.text))
 		told(t, x.s, x.then, put(x.at, x.at, x.text), s, e)
 	}
 	for _, x := range []struct {
@@ -127,15 +88,15 @@ func TestInsert(t *testing.T) {
 		{"<a>", 1, strings.Repeat("x", api.MaxDoc), api.ErrLong},
 		{"<a>", 1, strings.Repeat("x", api.MaxDoc+1) + "<", api.ErrArg},
 	} {
-		s, e := Insert(c, tokens(x.s), x.at, tokens(x.text))
+		s, e := Insert(c, sample.Tokens(x.s), x.at, sample.Tokens(x.text))
 		refused(t, x.s+" with "+x.text, x.want, s, e)
 	}
 	for _, kind := range []int{math.MinInt, -1, 4, math.MaxInt} {
-		s, e := Insert(c, tokens("<a>"), 1, []api.Token{{K: kind}})
+		s, e := Insert(c, sample.Tokens("<a>"), 1, []api.Token{{K: kind}})
 		refused(t, "Insert of a kind that is none", api.ErrArg, s, e)
 	}
 	for _, wrong := range []api.Token{{N: 0xD800}, {N: 0x110000}, {N: 'x', T: 1}, {N: 'x', M: 5}, {N: 'x', M: -1}} {
-		s, e := Insert(c, tokens("<a>"), 1, []api.Token{wrong})
+		s, e := Insert(c, sample.Tokens("<a>"), 1, []api.Token{wrong})
 		refused(t, "Insert of a wrong TRune", api.ErrArg, s, e)
 	}
 }
@@ -156,7 +117,7 @@ func TestDelete(t *testing.T) {
 		{"<ab><c>", 0, 4, "<c>"},
 		{"_<c>", 1, 4, "_"},
 	} {
-		s, e := Delete(c, tokens(x.s), x.from, x.to)
+		s, e := Delete(c, sample.Tokens(x.s), x.from, x.to)
 		told(t, x.s, x.then, put(x.from, x.to, ""), s, e)
 	}
 	for _, x := range []struct {
@@ -179,7 +140,7 @@ func TestDelete(t *testing.T) {
 		{"<a>", math.MinInt, math.MaxInt, api.ErrArg},
 		{"<a>", math.MaxInt, math.MinInt, api.ErrArg},
 	} {
-		s, e := Delete(c, tokens(x.s), x.from, x.to)
+		s, e := Delete(c, sample.Tokens(x.s), x.from, x.to)
 		refused(t, x.s, x.want, s, e)
 	}
 }
@@ -210,7 +171,7 @@ func TestSplit(t *testing.T) {
 		{"<a>", -1, "", "", api.ErrArg},
 		{"<a>", 4, "", "", api.ErrArg},
 	} {
-		s, e := Split(c, tokens(x.s), x.at)
+		s, e := Split(c, sample.Tokens(x.s), x.at)
 		if x.expected != api.OK {
 			refused(t, x.s, x.expected, s, e)
 			continue
@@ -218,9 +179,9 @@ func TestSplit(t *testing.T) {
 		told(t, x.s, x.then, put(x.at, x.at, x.between), s, e)
 	}
 	// The new one has the N of the old one.
-	l := []api.Token{open(api.Head, 4), {N: 'a'}, {K: api.TClose}}
+	l := []api.Token{sample.Open(api.Head, 4), {N: 'a'}, {K: api.TClose}}
 	s, e := Split(c, l, 1)
-	if want := []api.Token{{K: api.TClose}, open(api.Head, 4)}; !flat.Same(s.Slice, want) || e != api.OK {
+	if want := []api.Token{{K: api.TClose}, sample.Open(api.Head, 4)}; !flat.Same(s.Slice, want) || e != api.OK {
 		t.Errorf("Split: %v, %d", s, e)
 	}
 }
@@ -258,7 +219,7 @@ func TestJoin(t *testing.T) {
 		{"<a><b>", -1, "", api.ErrArg},
 		{"<a><b>", 7, "", api.ErrArg},
 	} {
-		s, e := Join(c, tokens(x.s), x.at)
+		s, e := Join(c, sample.Tokens(x.s), x.at)
 		if x.want != api.OK {
 			refused(t, x.s, x.want, s, e)
 			continue
@@ -312,12 +273,12 @@ func TestRetype(t *testing.T) {
 		{"<a>", -1, api.Head, 2, 0, api.ErrArg},
 		{"<a>", 4, api.Head, 2, 0, api.ErrArg},
 	} {
-		s, e := Retype(c, tokens(x.s), x.at, x.kind, x.n)
+		s, e := Retype(c, sample.Tokens(x.s), x.at, x.kind, x.n)
 		if x.want != api.OK {
 			refused(t, x.s, x.want, s, e)
 			continue
 		}
-		want := api.Step{K: api.SReplace, From: x.from, To: x.from + 1, Slice: []api.Token{open(x.kind, x.n)}}
+		want := api.Step{K: api.SReplace, From: x.from, To: x.from + 1, Slice: []api.Token{sample.Open(x.kind, x.n)}}
 		if !step.Same(s, want) || e != api.OK {
 			t.Errorf("Retype(%s, %d, %d, %d): %v, %d; want %v", x.s, x.at, x.kind, x.n, s, e, want)
 		}
@@ -368,7 +329,7 @@ func TestToggle(t *testing.T) {
 		{"<a>", -1, 1, api.Em, 0, api.ErrArg},
 		{"<a>", 1, 4, api.Em, 0, api.ErrArg},
 	} {
-		s, e := Toggle(c, tokens(x.s), x.from, x.to, x.m)
+		s, e := Toggle(c, sample.Tokens(x.s), x.from, x.to, x.m)
 		if x.want != api.OK {
 			refused(t, x.s, x.want, s, e)
 			continue
@@ -400,7 +361,7 @@ func TestWrap(t *testing.T) {
 		// A TClose ends what is innermost, whichever it was written for.
 		{"<a>", 0, 2, "(", ")", "(<a>)"},
 	} {
-		s, e := Wrap(c, tokens(x.s), x.from, x.to, tokens(x.around)...)
+		s, e := Wrap(c, sample.Tokens(x.s), x.from, x.to, sample.Tokens(x.around)...)
 		told(t, x.s, x.then, gap(x.from, x.to, x.from, x.to, x.around, x.ends), s, e)
 	}
 	for _, x := range []struct {
@@ -438,7 +399,7 @@ func TestWrap(t *testing.T) {
 		{"<a>", 0, 3, strings.Repeat("(", api.MaxDoc+1), api.ErrLong},
 		{"<a>", 0, 0, strings.Repeat("(", api.MaxDoc+1), api.ErrNone},
 	} {
-		s, e := Wrap(c, tokens(x.s), x.from, x.to, tokens(x.around)...)
+		s, e := Wrap(c, sample.Tokens(x.s), x.from, x.to, sample.Tokens(x.around)...)
 		if x.want == api.OK {
 			if e != api.OK {
 				t.Errorf("Wrap(%s) in %d: %d", x.s, len(x.around), e)
@@ -448,14 +409,14 @@ func TestWrap(t *testing.T) {
 		refused(t, x.s+" in "+x.around, x.want, s, e)
 	}
 	// A TOpen that is not right has the right kind: the step is refused, behind what the command refuses.
-	for _, wrong := range []api.Token{open(0, 0), open(16, 0), open(3, 16), open(3, -1), {K: api.TOpen, T: 3, M: 1}} {
-		s, e := Wrap(c, tokens("<a>"), 0, 3, wrong)
+	for _, wrong := range []api.Token{sample.Open(0, 0), sample.Open(16, 0), sample.Open(3, 16), sample.Open(3, -1), {K: api.TOpen, T: 3, M: 1}} {
+		s, e := Wrap(c, sample.Tokens("<a>"), 0, 3, wrong)
 		refused(t, "Wrap in a wrong TOpen", api.ErrArg, s, e)
-		s, e = Wrap(c, tokens("<a>"), 0, 0, wrong)
+		s, e = Wrap(c, sample.Tokens("<a>"), 0, 0, wrong)
 		refused(t, "Wrap of nothing in a wrong TOpen", api.ErrNone, s, e)
 	}
-	s, e := Wrap(c, tokens("<a>"), 0, 3, open(api.List, 1), open(api.Item, 0))
-	if want := []api.Token{open(api.List, 1), open(api.Item, 0), {K: api.TClose}, {K: api.TClose}}; !flat.Same(s.Slice, want) || e != api.OK {
+	s, e := Wrap(c, sample.Tokens("<a>"), 0, 3, sample.Open(api.List, 1), sample.Open(api.Item, 0))
+	if want := []api.Token{sample.Open(api.List, 1), sample.Open(api.Item, 0), {K: api.TClose}, {K: api.TClose}}; !flat.Same(s.Slice, want) || e != api.OK {
 		t.Errorf("Wrap in a list with numbers: %v, %d", s, e)
 	}
 }
@@ -489,7 +450,7 @@ func TestLift(t *testing.T) {
 		{"(<a><b><c>)", 5, "(<a>)<b>(<c>)", gap(4, 7, 4, 7, ")", "(")},
 		{"(_<b>_)", 3, "(_)<b>(_)", gap(2, 5, 2, 5, ")", "(")},
 	} {
-		s, e := Lift(c, tokens(x.s), x.at)
+		s, e := Lift(c, sample.Tokens(x.s), x.at)
 		told(t, x.s, x.then, x.want, s, e)
 	}
 	for _, x := range []struct {
@@ -515,7 +476,7 @@ func TestLift(t *testing.T) {
 		{"(<a>)", math.MinInt, api.ErrArg},
 		{"(<a>)", math.MaxInt, api.ErrArg},
 	} {
-		s, e := Lift(c, tokens(x.s), x.at)
+		s, e := Lift(c, sample.Tokens(x.s), x.at)
 		refused(t, x.s, x.want, s, e)
 	}
 	// What is opened anew has the N of p.
@@ -523,8 +484,8 @@ func TestLift(t *testing.T) {
 	if e != api.OK {
 		t.Fatal(e)
 	}
-	l := []api.Token{open(1, 7), open(1, 1), {K: api.TClose}, open(1, 2), {K: api.TClose}, open(1, 3), {K: api.TClose}, {K: api.TClose}}
-	for at, want := range map[int][]api.Token{2: {open(1, 7)}, 4: {{K: api.TClose}, open(1, 7)}, 6: {{K: api.TClose}}} {
+	l := []api.Token{sample.Open(1, 7), sample.Open(1, 1), {K: api.TClose}, sample.Open(1, 2), {K: api.TClose}, sample.Open(1, 3), {K: api.TClose}, {K: api.TClose}}
+	for at, want := range map[int][]api.Token{2: {sample.Open(1, 7)}, 4: {{K: api.TClose}, sample.Open(1, 7)}, 6: {{K: api.TClose}}} {
 		if s, e := Lift(c, l, at); !flat.Same(s.Slice, want) || e != api.OK {
 			t.Errorf("Lift at %d: %v, %d", at, s, e)
 		}
@@ -534,8 +495,8 @@ func TestLift(t *testing.T) {
 // calls answers all commands at a place, and at two; the text and the type are such that they may be refused themselves.
 func calls(c *schema.Schema, l []api.Token, from int, to int) map[string]func() (api.Step, api.Errno) {
 	return map[string]func() (api.Step, api.Errno){
-		"Insert":       func() (api.Step, api.Errno) { return Insert(c, l, from, tokens("x")) },
-		"Insert wrong": func() (api.Step, api.Errno) { return Insert(c, l, from, tokens("<")) },
+		"Insert":       func() (api.Step, api.Errno) { return Insert(c, l, from, sample.Tokens("x")) },
+		"Insert wrong": func() (api.Step, api.Errno) { return Insert(c, l, from, sample.Tokens("<")) },
 		"Delete":       func() (api.Step, api.Errno) { return Delete(c, l, from, to) },
 		"Split":        func() (api.Step, api.Errno) { return Split(c, l, from) },
 		"Join":         func() (api.Step, api.Errno) { return Join(c, l, from) },
@@ -543,7 +504,7 @@ func calls(c *schema.Schema, l []api.Token, from int, to int) map[string]func() 
 		"Retype wrong": func() (api.Step, api.Errno) { return Retype(c, l, from, 0, -1) },
 		"Toggle":       func() (api.Step, api.Errno) { return Toggle(c, l, from, to, api.Em) },
 		"Toggle wrong": func() (api.Step, api.Errno) { return Toggle(c, l, from, to, 3) },
-		"Wrap":         func() (api.Step, api.Errno) { return Wrap(c, l, from, to, open(api.Quote, 0)) },
+		"Wrap":         func() (api.Step, api.Errno) { return Wrap(c, l, from, to, sample.Open(api.Quote, 0)) },
 		"Wrap wrong":   func() (api.Step, api.Errno) { return Wrap(c, l, from, to) },
 		"Lift":         func() (api.Step, api.Errno) { return Lift(c, l, from) },
 	}
@@ -594,11 +555,11 @@ func TestRefusalsOfAll(t *testing.T) {
 		{c, "<a>", math.MinInt, 3, api.ErrArg},
 		{c, "<a>", math.MaxInt, math.MaxInt, api.ErrArg},
 	} {
-		for name, call := range calls(x.c, tokens(x.s), x.from, x.to) {
+		for name, call := range calls(x.c, sample.Tokens(x.s), x.from, x.to) {
 			s, e := call()
 			refused(t, name+" of "+x.s, x.want, s, e)
 		}
-		for _, call := range acts(x.c, tokens(x.s), x.from, x.to) {
+		for _, call := range acts(x.c, sample.Tokens(x.s), x.from, x.to) {
 			s, e := call()
 			refused(t, "Do of "+x.s, x.want, s, e)
 		}
@@ -617,7 +578,7 @@ func TestEmptyDocument(t *testing.T) {
 		t.Fatal(e)
 	}
 	for _, l := range [][]api.Token{nil, {}} {
-		s, e := Insert(c, l, 0, tokens("x"))
+		s, e := Insert(c, l, 0, sample.Tokens("x"))
 		told(t, "", "x", put(0, 0, "x"), s, e)
 		for _, none := range [][]api.Token{nil, {}} {
 			s, e = Insert(c, l, 0, none)
@@ -644,31 +605,31 @@ func TestAtTheLimits(t *testing.T) {
 		text string
 		want api.Errno
 	}{{room, "xy", api.OK}, {room, "xyz", api.ErrLong}, {full, "", api.OK}, {full, "x", api.ErrLong}} {
-		if _, e := Insert(c, tokens(x.s), 1, tokens(x.text)); e != x.want {
+		if _, e := Insert(c, sample.Tokens(x.s), 1, sample.Tokens(x.text)); e != x.want {
 			t.Errorf("Insert of %d in %d: %d", len(x.text), len(x.s), e)
 		}
 	}
 	for s, want := range map[string]api.Errno{room: api.OK, full: api.ErrLong, "<a" + room[1:]: api.ErrLong} {
-		if _, e := Split(c, tokens(s), 5); e != want {
+		if _, e := Split(c, sample.Tokens(s), 5); e != want {
 			t.Errorf("Split of %d: %d", len(s), e)
 		}
-		if _, e := Wrap(c, tokens(s), 0, len(s), open(api.Quote, 0)); e != want {
+		if _, e := Wrap(c, sample.Tokens(s), 0, len(s), sample.Open(api.Quote, 0)); e != want {
 			t.Errorf("Wrap of %d: %d", len(s), e)
 		}
 	}
-	if _, e := Toggle(c, tokens(full), 0, api.MaxDoc, api.Strong); e != api.OK {
+	if _, e := Toggle(c, sample.Tokens(full), 0, api.MaxDoc, api.Strong); e != api.OK {
 		t.Errorf("Toggle of all: %d", e)
 	}
-	if _, e := Delete(c, tokens(full), 1, api.MaxDoc-1); e != api.OK {
+	if _, e := Delete(c, sample.Tokens(full), 1, api.MaxDoc-1); e != api.OK {
 		t.Errorf("Delete of all: %d", e)
 	}
 	deepest := strings.Repeat("(", api.MaxDeep-1) + "<" + strings.Repeat(")", api.MaxDeep)
-	s, e := Wrap(c, tokens(deepest), api.MaxDeep-1, api.MaxDeep+1, open(api.Quote, 0))
+	s, e := Wrap(c, sample.Tokens(deepest), api.MaxDeep-1, api.MaxDeep+1, sample.Open(api.Quote, 0))
 	refused(t, "Wrap of the deepest", api.ErrDeep, s, e)
-	if s, e := Lift(c, tokens(deepest), api.MaxDeep); s.From != api.MaxDeep-2 || e != api.OK {
+	if s, e := Lift(c, sample.Tokens(deepest), api.MaxDeep); s.From != api.MaxDeep-2 || e != api.OK {
 		t.Errorf("Lift of the deepest: %v, %d", s, e)
 	}
-	if s, e := Split(c, tokens(deepest), api.MaxDeep); s.From != api.MaxDeep || e != api.OK {
+	if s, e := Split(c, sample.Tokens(deepest), api.MaxDeep); s.From != api.MaxDeep || e != api.OK {
 		t.Errorf("Split of the deepest: %v, %d", s, e)
 	}
 }
@@ -696,17 +657,17 @@ func TestDo(t *testing.T) {
 		{"<a><b>", api.Act{B: api.CWrap, C: 0, D: 3, N: api.Item}, "[{<a>}]<b>", gap(0, 3, 0, 3, "[{", "}]")},
 		{quotes, api.Act{B: api.CLift, C: 2}, "<a>(<b>)", gap(0, 4, 1, 4, "", "(")},
 	} {
-		s, e := Do(c, tokens(x.s), x.a)
+		s, e := Do(c, sample.Tokens(x.s), x.a)
 		told(t, x.s, x.then, x.want, s, e)
 		// Neither the kind of the act, nor whose it is, nor its bytes count.
 		x.a.K, x.a.A, x.a.Bytes = 99, -7, []byte{1, 2}
-		s, e = Do(c, tokens(x.s), x.a)
+		s, e = Do(c, sample.Tokens(x.s), x.a)
 		told(t, x.s, x.then, x.want, s, e)
 		// Nor does D, of a command with one place.
 		if x.a.B == api.CInsert || x.a.B == api.CSplit || x.a.B == api.CJoin || x.a.B == api.CLift {
 			for _, d := range []int{math.MinInt, -1, 1, math.MaxInt} {
 				x.a.D = d
-				s, e = Do(c, tokens(x.s), x.a)
+				s, e = Do(c, sample.Tokens(x.s), x.a)
 				told(t, x.s, x.then, x.want, s, e)
 			}
 		}
@@ -745,7 +706,7 @@ func TestDo(t *testing.T) {
 		{api.Act{B: api.CWrap, C: 0, D: 8, N: api.Head}, api.ErrValid}, // its N is 0, which a head may not have
 		{api.Act{B: api.CLift, C: 1}, api.ErrNone},
 	} {
-		s, e := Do(c, tokens(quotes), x.a)
+		s, e := Do(c, sample.Tokens(quotes), x.a)
 		refused(t, "Do", x.want, s, e)
 	}
 }
@@ -756,7 +717,7 @@ func TestDoOfAnItemOfOthers(t *testing.T) {
 	if e != api.OK {
 		t.Fatal(e)
 	}
-	s, e := Do(c, tokens("__"), api.Act{B: api.CWrap, C: 1, D: 2, N: api.Item})
+	s, e := Do(c, sample.Tokens("__"), api.Act{B: api.CWrap, C: 1, D: 2, N: api.Item})
 	told(t, "__", "_[{_}]", gap(1, 2, 1, 2, "[{", "}]"), s, e)
 }
 
@@ -833,16 +794,16 @@ func plain(c *schema.Schema, l []api.Token, a api.Act) (api.Step, api.Errno) {
 			return api.Step{}, api.ErrArg
 		}
 		i := in[len(in)-1]
-		return checked(c, l, api.Step{From: i, To: i + 1, Slice: []api.Token{open(a.D, a.N)}})
+		return checked(c, l, api.Step{From: i, To: i + 1, Slice: []api.Token{sample.Open(a.D, a.N)}})
 	case api.CMark:
 		return plainMark(c, l, a)
 	case api.CWrap:
 		if a.C == a.D {
 			return api.Step{}, api.ErrNone
 		}
-		slice := []api.Token{open(a.N, 0), end}
+		slice := []api.Token{sample.Open(a.N, 0), end}
 		if a.N == api.Item {
-			slice = []api.Token{open(api.List, 0), open(a.N, 0), end, end}
+			slice = []api.Token{sample.Open(api.List, 0), sample.Open(a.N, 0), end, end}
 		}
 		return checked(c, l, api.Step{K: api.SAround, From: a.C, To: a.D, GapFrom: a.C, GapTo: a.D, Slice: slice, Insert: len(slice) / 2})
 	case api.CLift:
@@ -912,9 +873,9 @@ func direct(c *schema.Schema, l []api.Token, a api.Act) (api.Step, api.Errno) {
 		return Toggle(c, l, a.C, a.D, a.N)
 	case api.CWrap:
 		if a.N == api.Item {
-			return Wrap(c, l, a.C, a.D, open(api.List, 0), open(a.N, 0))
+			return Wrap(c, l, a.C, a.D, sample.Open(api.List, 0), sample.Open(a.N, 0))
 		}
-		return Wrap(c, l, a.C, a.D, open(a.N, 0))
+		return Wrap(c, l, a.C, a.D, sample.Open(a.N, 0))
 	case api.CLift:
 		return Lift(c, l, a.C)
 	}
@@ -967,23 +928,6 @@ func may(t *testing.T, c *schema.Schema, l []api.Token, s api.Step) {
 	}
 }
 
-// rows answers all rows of at most most tokens of alphabet.
-func rows(alphabet []api.Token, most int) [][]api.Token {
-	all := [][]api.Token{nil}
-	last := all
-	for range most {
-		var next [][]api.Token
-		for _, l := range last {
-			for _, one := range alphabet {
-				next = append(next, append(slices.Clone(l), one))
-			}
-		}
-		all = append(all, next...)
-		last = next
-	}
-	return all
-}
-
 func holdsAll(t *testing.T, c *schema.Schema, rows [][]api.Token) {
 	t.Helper()
 	var done [api.CLift + 1]int
@@ -1004,15 +948,15 @@ func holdsAll(t *testing.T, c *schema.Schema, rows [][]api.Token) {
 
 func TestAllShortDocumentsOfTheHouse(t *testing.T) {
 	c := schema.House()
-	all := rows(tokens("a<(_>"), 5)
+	all := sample.Rows(sample.Tokens("a<(_>"), 5)
 	for _, s := range []string{"<ab>(<c>)", "[{<a>}{_<>}]", "(_#a>_)", "`\n'<B>", "(((_)))", "<E>(<C>)"} {
-		all = append(all, tokens(s))
+		all = append(all, sample.Tokens(s))
 	}
 	holdsAll(t, c, all)
 }
 
 func TestAllShortDocumentsOfOthers(t *testing.T) {
-	alphabet := []api.Token{{N: 'a'}, {N: 'b', M: api.Em}, open(1, 0), open(2, 3), {K: api.TClose}}
+	alphabet := []api.Token{{N: 'a'}, {N: 'b', M: api.Em}, sample.Open(1, 0), sample.Open(2, 3), {K: api.TClose}}
 	// What may be done hangs on what stands beside it, not on the type alone.
 	for _, x := range [][3]string{
 		{"(a|b|text)*", "(a|b|text)*", "(a|b|text)*"},
@@ -1025,7 +969,7 @@ func TestAllShortDocumentsOfOthers(t *testing.T) {
 		if e != api.OK {
 			t.Fatal(e)
 		}
-		holdsAll(t, c, rows(alphabet, 4))
+		holdsAll(t, c, sample.Rows(alphabet, 4))
 	}
 }
 
@@ -1034,7 +978,7 @@ func TestToggleTwice(t *testing.T) {
 	c := schema.House()
 	for _, s := range []string{"<ab>", "<aB>", "<BE>", "<aC>", "<CC>"} {
 		for _, m := range []int{api.Strong, api.Em, api.Code} {
-			l := tokens(s)
+			l := sample.Tokens(s)
 			first, e := Toggle(c, l, 0, len(l), m)
 			then, f := step.Apply(l, first)
 			if e != api.OK || f != api.OK {
@@ -1058,9 +1002,9 @@ func TestToggleTwice(t *testing.T) {
 func TestNothingKeptNorChanged(t *testing.T) {
 	c := schema.House()
 	const s = "(<ab>_)<c>"
-	l := append(make([]api.Token, 0, 32), tokens(s)...)
-	text := append(make([]api.Token, 0, 8), tokens("xy")...)
-	around := append(make([]api.Token, 0, 8), tokens("[{")...)
+	l := append(make([]api.Token, 0, 32), sample.Tokens(s)...)
+	text := append(make([]api.Token, 0, 8), sample.Tokens("xy")...)
+	around := append(make([]api.Token, 0, 8), sample.Tokens("[{")...)
 	var steps, copies []api.Step
 	keep := func(s api.Step, e api.Errno) {
 		if e != api.OK {
@@ -1074,7 +1018,7 @@ func TestNothingKeptNorChanged(t *testing.T) {
 		keep(Insert(c, l, 2, text))
 		keep(Delete(c, l, 2, 3))
 		keep(Split(c, l, 3))
-		keep(Join(c, tokens("<a><b>"), 3))
+		keep(Join(c, sample.Tokens("<a><b>"), 3))
 		keep(Retype(c, l, 2, api.Head, 1))
 		keep(Toggle(c, l, 0, 5, api.Em))
 		keep(Wrap(c, l, 1, 5, around...))
@@ -1086,7 +1030,7 @@ func TestNothingKeptNorChanged(t *testing.T) {
 		then string
 	}{{l, s}, {text, "xy"}, {around, "[{"}} {
 		wide := slices.Clone(x.now[:cap(x.now)])
-		if want := append(tokens(x.then), make([]api.Token, cap(x.now)-len(x.now))...); !flat.Same(wide, want) {
+		if want := append(sample.Tokens(x.then), make([]api.Token, cap(x.now)-len(x.now))...); !flat.Same(wide, want) {
 			t.Errorf("what was handed in is changed: %v", wide)
 		}
 	}

@@ -11,6 +11,7 @@ import (
 	"emender/expr"
 	"emender/flat"
 	"emender/reg"
+	"emender/sample"
 )
 
 func open(t int) api.Token { return api.Token{K: api.TOpen, T: t} }
@@ -20,51 +21,6 @@ func leaf(t int) api.Token { return api.Token{K: api.TLeaf, T: t} }
 func char(n int) api.Token { return api.Token{N: n} }
 
 func end() api.Token { return api.Token{K: api.TClose} }
-
-// tokens reads a text: < opens a para, # a head of 1, ( a quote, ` a code, [ a list, { an item; > ) ] } end; _ is a rule; others are themselves.
-func tokens(s string) []api.Token {
-	var l []api.Token
-	for _, c := range s {
-		switch c {
-		case '<':
-			l = append(l, open(api.Para))
-		case '#':
-			l = append(l, api.Token{K: api.TOpen, T: api.Head, N: 1})
-		case '(':
-			l = append(l, open(api.Quote))
-		case '`':
-			l = append(l, open(api.Block))
-		case '[':
-			l = append(l, open(api.List))
-		case '{':
-			l = append(l, open(api.Item))
-		case '>', ')', ']', '}':
-			l = append(l, end())
-		case '_':
-			l = append(l, leaf(api.Rule))
-		default:
-			l = append(l, char(int(c)))
-		}
-	}
-	return l
-}
-
-// rows answers all rows of at most most tokens of alphabet.
-func rows(alphabet []api.Token, most int) [][]api.Token {
-	all := [][]api.Token{nil}
-	last := all
-	for range most {
-		var next [][]api.Token
-		for _, l := range last {
-			for _, t := range alphabet {
-				next = append(next, append(slices.Clone(l), t))
-			}
-		}
-		all = append(all, next...)
-		last = next
-	}
-	return all
-}
 
 // given is what a schema is made of.
 type given struct {
@@ -303,7 +259,7 @@ func TestP7_1House(t *testing.T) {
 			t.Errorf("the type %d: %v, %v", i+1, got, ok)
 		}
 	}
-	l := tokens("<>([{<>}])`\n>#><>")
+	l := sample.Tokens("<>([{<>}])`\n>#><>")
 	checks(t, s, l, len(l), api.OK)
 	for at, want := range map[int][]int{0: {1, 2, 3, 4, 5, 7}, 1: {0}, 3: {1, 2, 3, 4, 5, 7}, 4: {6}, 5: {1, 2, 3, 4, 5, 7}, 11: {0}, 14: {0}} {
 		for kind := range api.MaxTypes {
@@ -327,7 +283,7 @@ func TestP7_2CheckOfTheHouse(t *testing.T) {
 		"\n": {0, api.ErrValid}, "(x)": {1, api.ErrValid}, "<>x": {2, api.ErrValid}, "(())": {2, api.ErrValid}, "(<>())": {4, api.ErrValid},
 		"()x": {1, api.ErrValid}, "(<>)x": {4, api.ErrValid}, "(<x_>)x": {3, api.ErrValid}, "_>": {1, api.ErrForm}, "x>": {1, api.ErrForm},
 	} {
-		at, e := s.Check(tokens(text))
+		at, e := s.Check(sample.Tokens(text))
 		if at != want.at || e != want.e {
 			t.Errorf("Check(%q): %d, %d", text, at, e)
 		}
@@ -337,7 +293,7 @@ func TestP7_2CheckOfTheHouse(t *testing.T) {
 func TestP7_2CheckLooksAtEachToken(t *testing.T) {
 	s := House()
 	in := func(outer api.Token, inner ...api.Token) []api.Token {
-		return slices.Concat(tokens("<>"), []api.Token{outer}, inner, []api.Token{end()})
+		return slices.Concat(sample.Tokens("<>"), []api.Token{outer}, inner, []api.Token{end()})
 	}
 	head := func(n int) api.Token { return api.Token{K: api.TOpen, T: api.Head, N: n} }
 	for _, x := range []struct {
@@ -351,8 +307,8 @@ func TestP7_2CheckLooksAtEachToken(t *testing.T) {
 		{"a head of 6", in(head(6)), 4, api.OK},
 		{"a head of 7", in(head(7)), 2, api.ErrValid},
 		{"a para of 1", in(api.Token{K: api.TOpen, T: api.Para, N: 1}), 2, api.ErrValid},
-		{"a list of 1", in(api.Token{K: api.TOpen, T: api.List, N: 1}, tokens("{_}")...), 7, api.OK},
-		{"a list of 2", in(api.Token{K: api.TOpen, T: api.List, N: 2}, tokens("{_}")...), 2, api.ErrValid},
+		{"a list of 1", in(api.Token{K: api.TOpen, T: api.List, N: 1}, sample.Tokens("{_}")...), 7, api.OK},
+		{"a list of 2", in(api.Token{K: api.TOpen, T: api.List, N: 2}, sample.Tokens("{_}")...), 2, api.ErrValid},
 		{"an item of 1", in(open(api.List), api.Token{K: api.TOpen, T: api.Item, N: 1}, leaf(api.Rule), end()), 3, api.ErrValid},
 		{"a rule of 1", []api.Token{{K: api.TLeaf, T: api.Rule, N: 1}}, 0, api.ErrValid},
 		{"a rule that is opened", in(open(api.Rule)), 2, api.ErrValid},
@@ -381,25 +337,25 @@ func TestP7_2CheckLooksAtEachToken(t *testing.T) {
 func TestP7_2FormAheadOfValid(t *testing.T) {
 	s := House()
 	deep := strings.Repeat("(", api.MaxDeep-1)
-	checks(t, s, tokens("{<_x"), 4, api.ErrShort)
-	checks(t, s, tokens("x<_>>"), 4, api.ErrForm)
-	checks(t, s, tokens("x"+deep+"(("), api.MaxDeep+1, api.ErrDeep)
-	checks(t, s, tokens(strings.Repeat("x", api.MaxDoc+1)), 0, api.ErrLong)
-	checks(t, s, tokens(strings.Repeat("_", api.MaxDoc+1)), 0, api.ErrLong)
+	checks(t, s, sample.Tokens("{<_x"), 4, api.ErrShort)
+	checks(t, s, sample.Tokens("x<_>>"), 4, api.ErrForm)
+	checks(t, s, sample.Tokens("x"+deep+"(("), api.MaxDeep+1, api.ErrDeep)
+	checks(t, s, sample.Tokens(strings.Repeat("x", api.MaxDoc+1)), 0, api.ErrLong)
+	checks(t, s, sample.Tokens(strings.Repeat("_", api.MaxDoc+1)), 0, api.ErrLong)
 }
 
 func TestP7_2CheckAtTheLimits(t *testing.T) {
 	s := House()
 	full := strings.Repeat("x", api.MaxDoc)
-	checks(t, s, tokens("<"+full[2:]+">"), api.MaxDoc, api.OK)
-	checks(t, s, tokens("<"+full[3:]+"_>"), api.MaxDoc-2, api.ErrValid)
-	checks(t, s, tokens(strings.Repeat("<>", api.MaxDoc/2)), api.MaxDoc, api.OK)
-	checks(t, s, tokens(strings.Repeat("<>", api.MaxDoc/2-1)+"()"), api.MaxDoc-1, api.ErrValid)
-	checks(t, s, tokens(strings.Repeat("_", api.MaxDoc-1)+"x"), api.MaxDoc-1, api.ErrValid)
+	checks(t, s, sample.Tokens("<"+full[2:]+">"), api.MaxDoc, api.OK)
+	checks(t, s, sample.Tokens("<"+full[3:]+"_>"), api.MaxDoc-2, api.ErrValid)
+	checks(t, s, sample.Tokens(strings.Repeat("<>", api.MaxDoc/2)), api.MaxDoc, api.OK)
+	checks(t, s, sample.Tokens(strings.Repeat("<>", api.MaxDoc/2-1)+"()"), api.MaxDoc-1, api.ErrValid)
+	checks(t, s, sample.Tokens(strings.Repeat("_", api.MaxDoc-1)+"x"), api.MaxDoc-1, api.ErrValid)
 	ends := strings.Repeat(")", api.MaxDeep)
 	deep := strings.Repeat("(", api.MaxDeep-1)
-	checks(t, s, tokens(deep+"<"+ends), 2*api.MaxDeep, api.OK)
-	checks(t, s, tokens(deep+"("+ends), api.MaxDeep, api.ErrValid)
+	checks(t, s, sample.Tokens(deep+"<"+ends), 2*api.MaxDeep, api.OK)
+	checks(t, s, sample.Tokens(deep+"("+ends), api.MaxDeep, api.ErrValid)
 	all := given{"", named(letters('o', 15)...), nil}
 	all.l[14].Expr, all.whole = "text", "oo?"
 	checks(t, all.schema(t), []api.Token{open(15), char('x'), end()}, 3, api.OK)
@@ -424,14 +380,14 @@ func TestP7_2AgainstPlainWords(t *testing.T) {
 		alphabet []api.Token
 		most     int
 	}{
-		{house(), tokens("<({[_x)"), 6},
+		{house(), sample.Tokens("<({[_x)"), 6},
 		{house(), []api.Token{open(1), open(4), char('x'), char(10), {N: 'x', M: 1}, leaf(7), open(7), end()}, 5},
 		{other(), []api.Token{{K: api.TOpen, T: 1, N: 1}, leaf(2), open(3), char('x'), {N: 10, M: 4}, end()}, 6},
 		{other(), []api.Token{{K: api.TOpen, T: 1, N: 2}, open(1), leaf(1), leaf(2), {K: api.TLeaf, T: 2, N: 2}, open(9), {N: 'x', M: 2}, char(10), end()}, 5},
 	} {
 		s := x.schema(t)
 		valid := 0
-		for _, l := range rows(x.alphabet, x.most) {
+		for _, l := range sample.Rows(x.alphabet, x.most) {
 			at, e := s.Check(l)
 			wantAt, want := x.plain(l)
 			if at != wantAt || e != want {
@@ -463,7 +419,7 @@ func TestP7_3Spec(t *testing.T) {
 
 func TestP7_3Holds(t *testing.T) {
 	s := House()
-	l := tokens("(<a>_)[{<>}]_")
+	l := sample.Tokens("(<a>_)[{<>}]_")
 	for at, want := range []string{"", "quote", "para", "para", "quote", "quote", "", "list", "item", "para", "item", "list", "", ""} {
 		got, ok := s.Holds(l, at)
 		if spec, _ := s.Spec(slices.Index([]string{"", "para", "head", "quote", "code", "list", "item"}, want)); got != spec || ok != (want != "") {
@@ -476,7 +432,7 @@ func TestP7_3Holds(t *testing.T) {
 		}
 	}
 	for _, wrong := range []string{"<a", "<a>x", "<_>", "(<>", "(<>)>", "(<>)()"} {
-		if got, ok := s.Holds(tokens(wrong), 1); got != (api.Spec{}) || ok {
+		if got, ok := s.Holds(sample.Tokens(wrong), 1); got != (api.Spec{}) || ok {
 			t.Errorf("Holds of %q: %v, %v", wrong, got, ok)
 		}
 	}
@@ -497,7 +453,7 @@ func TestP7_3MayOfAllShortRows(t *testing.T) {
 	}
 	x := other()
 	s := x.schema(t)
-	for _, l := range rows([]api.Token{{K: api.TOpen, T: 1, N: 1}, leaf(2), open(3), char('x'), end()}, 6) {
+	for _, l := range sample.Rows([]api.Token{{K: api.TOpen, T: 1, N: 1}, leaf(2), open(3), char('x'), end()}, 6) {
 		_, e := x.plain(l)
 		for at := -1; at <= len(l)+1; at++ {
 			for kind := -1; kind <= 4; kind++ {
@@ -517,11 +473,11 @@ func TestP7_3MayOfAllShortRows(t *testing.T) {
 
 func TestP7_3MayLooksAtWordsAlone(t *testing.T) {
 	s := House()
-	full := tokens("<" + strings.Repeat("x", api.MaxDoc-2) + ">")
+	full := sample.Tokens("<" + strings.Repeat("x", api.MaxDoc-2) + ">")
 	if !s.May(full, 5, 0) || !s.May(full, 0, api.Head) || s.May(full, 5, api.Head) {
 		t.Error("a full document")
 	}
-	deep := tokens(strings.Repeat("(", api.MaxDeep-1) + "<" + strings.Repeat(")", api.MaxDeep))
+	deep := sample.Tokens(strings.Repeat("(", api.MaxDeep-1) + "<" + strings.Repeat(")", api.MaxDeep))
 	if !s.May(deep, api.MaxDeep-1, api.Quote) || s.May(deep, api.MaxDeep, api.Quote) || !s.May(deep, api.MaxDeep, 0) {
 		t.Error("a deep document")
 	}
@@ -533,7 +489,7 @@ func TestP7_3MayLooksAtWordsAlone(t *testing.T) {
 
 func TestP7_3MayOfWrongArguments(t *testing.T) {
 	s := House()
-	l := tokens("<a>_")
+	l := sample.Tokens("<a>_")
 	for _, at := range []int{math.MinInt, -1, len(l) + 1, math.MaxInt} {
 		if s.May(l, at, api.Para) || s.May(l, at, 0) {
 			t.Errorf("May at %d", at)
@@ -545,7 +501,7 @@ func TestP7_3MayOfWrongArguments(t *testing.T) {
 		}
 	}
 	for _, wrong := range []string{"", "x", "<", "<>)", "()"} {
-		if s.May(tokens(wrong), 0, api.Para) {
+		if s.May(sample.Tokens(wrong), 0, api.Para) {
 			t.Errorf("May of %q", wrong)
 		}
 	}
@@ -554,7 +510,7 @@ func TestP7_3MayOfWrongArguments(t *testing.T) {
 func TestP7_3Fill(t *testing.T) {
 	s := House()
 	for kind, want := range []string{"", "<>", "#>", "(<>)", "`>", "[{<>}]", "{<>}", "_", ""} {
-		if l, ok := s.Fill(kind); !flat.Same(l, tokens(want)) || ok != (want != "") {
+		if l, ok := s.Fill(kind); !flat.Same(l, sample.Tokens(want)) || ok != (want != "") {
 			t.Errorf("Fill(%d): %v, %v", kind, l, ok)
 		}
 	}
@@ -649,7 +605,7 @@ func TestP7_3Alone(t *testing.T) {
 func TestP7_4NotMade(t *testing.T) {
 	var none *Schema
 	for _, s := range []*Schema{none, {}, new(Schema)} {
-		for _, l := range [][]api.Token{nil, {}, tokens("<x>"), tokens(">"), tokens(strings.Repeat("x", api.MaxDoc+1))} {
+		for _, l := range [][]api.Token{nil, {}, sample.Tokens("<x>"), sample.Tokens(">"), sample.Tokens(strings.Repeat("x", api.MaxDoc+1))} {
 			checks(t, s, l, 0, api.ErrZero)
 			for _, at := range []int{math.MinInt, -1, 0, 1, 3, math.MaxInt} {
 				if spec, ok := s.Holds(l, at); spec != (api.Spec{}) || ok || s.May(l, at, 0) || s.May(l, at, 1) {
@@ -667,15 +623,15 @@ func TestP7_4NotMade(t *testing.T) {
 	}
 	// One without types is made all the same.
 	checks(t, given{}.schema(t), nil, 0, api.OK)
-	checks(t, given{}.schema(t), tokens("x"), 0, api.ErrValid)
-	checks(t, given{"text", nil, nil}.schema(t), tokens("x"), 1, api.OK)
-	checks(t, given{"text*", nil, nil}.schema(t), tokens("x\n"), 1, api.ErrValid)
+	checks(t, given{}.schema(t), sample.Tokens("x"), 0, api.ErrValid)
+	checks(t, given{"text", nil, nil}.schema(t), sample.Tokens("x"), 1, api.OK)
+	checks(t, given{"text*", nil, nil}.schema(t), sample.Tokens("x\n"), 1, api.ErrValid)
 	checks(t, given{"text*", nil, nil}.schema(t), []api.Token{char('x'), {N: 'x', M: 1}}, 1, api.ErrValid)
 }
 
 func TestP7_5WhatIsFilledMayStand(t *testing.T) {
 	s := House()
-	for _, l := range append(rows(tokens("<(_x)"), 6), tokens("[{<a>}{_}](<>)`\n>#a>")) {
+	for _, l := range append(sample.Rows(sample.Tokens("<(_x)"), 6), sample.Tokens("[{<a>}{_}](<>)`\n>#a>")) {
 		if _, e := s.Check(l); e != api.OK {
 			continue
 		}

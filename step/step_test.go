@@ -11,42 +11,15 @@ import (
 	"emender/flat"
 	"emender/mark"
 	"emender/pos"
+	"emender/sample"
 )
 
-// tokens answers those of a text: < opens a para, ( a quote, > and ) end, _ is a rule, ! a wrong token; B is a b that is Strong, E an e that is Em, C a c that is Code; others are themselves.
-func tokens(s string) []api.Token {
-	var l []api.Token
-	for _, c := range s {
-		switch c {
-		case '<':
-			l = append(l, api.Token{K: api.TOpen, T: api.Para})
-		case '(':
-			l = append(l, api.Token{K: api.TOpen, T: api.Quote})
-		case '>', ')':
-			l = append(l, api.Token{K: api.TClose})
-		case '_':
-			l = append(l, api.Token{K: api.TLeaf, T: api.Rule})
-		case '!':
-			l = append(l, api.Token{N: -1})
-		case 'B':
-			l = append(l, api.Token{N: 'b', M: api.Strong})
-		case 'E':
-			l = append(l, api.Token{N: 'e', M: api.Em})
-		case 'C':
-			l = append(l, api.Token{N: 'c', M: api.Code})
-		default:
-			l = append(l, api.Token{N: int(c)})
-		}
-	}
-	return l
-}
-
 func replace(from, to int, slice string) api.Step {
-	return api.Step{From: from, To: to, Slice: tokens(slice)}
+	return api.Step{From: from, To: to, Slice: sample.Tokens(slice)}
 }
 
 func around(from, gapFrom, gapTo, to int, ahead, behind string) api.Step {
-	return api.Step{K: api.SAround, From: from, To: to, GapFrom: gapFrom, GapTo: gapTo, Insert: len(ahead), Slice: tokens(ahead + behind)}
+	return api.Step{K: api.SAround, From: from, To: to, GapFrom: gapFrom, GapTo: gapTo, Insert: len(ahead), Slice: sample.Tokens(ahead + behind)}
 }
 
 func marking(from, to, m int) api.Step {
@@ -78,7 +51,7 @@ func rows(letters string, most int) []string {
 func documents(letters string, most int) [][]api.Token {
 	var all [][]api.Token
 	for _, s := range rows(letters, most) {
-		l := tokens(s)
+		l := sample.Tokens(s)
 		if _, e := flat.Check(l); e == api.OK {
 			all = append(all, l)
 		}
@@ -217,8 +190,8 @@ func TestP9_1Check(t *testing.T) {
 		{unmarking(api.MaxDoc-1, api.MaxDoc, api.Code), api.OK},
 
 		{replace(0, 0, full+"x"), api.ErrLong},
-		{api.Step{K: -1, From: -1, Slice: tokens(full + "!")}, api.ErrLong},
-		{api.Step{K: api.SMark, To: 1, Mark: 1, Slice: tokens(full + "x")}, api.ErrLong},
+		{api.Step{K: -1, From: -1, Slice: sample.Tokens(full + "!")}, api.ErrLong},
+		{api.Step{K: api.SMark, To: 1, Mark: 1, Slice: sample.Tokens(full + "x")}, api.ErrLong},
 
 		{api.Step{K: -1}, api.ErrArg},
 		{api.Step{K: 4}, api.ErrArg},
@@ -235,7 +208,7 @@ func TestP9_1Check(t *testing.T) {
 		{api.Step{Mark: 1}, api.ErrArg},
 		{api.Step{GapFrom: 1, To: 2}, api.ErrArg},
 		{api.Step{GapTo: 1, To: 2}, api.ErrArg},
-		{api.Step{Insert: 1, Slice: tokens("x")}, api.ErrArg},
+		{api.Step{Insert: 1, Slice: sample.Tokens("x")}, api.ErrArg},
 
 		{around(1, 0, 2, 2, "", ""), api.ErrArg},
 		{around(0, 1, 1, 2, "", ""), api.ErrArg},
@@ -246,8 +219,8 @@ func TestP9_1Check(t *testing.T) {
 		{around(0, 0, 1, api.MaxDoc+1, "", ""), api.ErrArg},
 		{around(0, 0, 1, 1, "!", ""), api.ErrArg},
 		{around(0, 0, 1, 1, "", "!"), api.ErrArg},
-		{api.Step{K: api.SAround, To: 1, GapTo: 1, Insert: -1, Slice: tokens("()")}, api.ErrArg},
-		{api.Step{K: api.SAround, To: 1, GapTo: 1, Insert: 3, Slice: tokens("()")}, api.ErrArg},
+		{api.Step{K: api.SAround, To: 1, GapTo: 1, Insert: -1, Slice: sample.Tokens("()")}, api.ErrArg},
+		{api.Step{K: api.SAround, To: 1, GapTo: 1, Insert: 3, Slice: sample.Tokens("()")}, api.ErrArg},
 		{api.Step{K: api.SAround, To: 1, GapTo: 1, Insert: 1}, api.ErrArg},
 		{api.Step{K: api.SAround, To: 1, GapTo: 1, Insert: math.MaxInt}, api.ErrArg},
 		{api.Step{K: api.SAround, To: 1, GapTo: 1, Mark: 1}, api.ErrArg},
@@ -264,7 +237,7 @@ func TestP9_1Check(t *testing.T) {
 		{api.Step{K: api.SMark, To: 2, Mark: 1, GapFrom: 1}, api.ErrArg},
 		{api.Step{K: api.SMark, To: 2, Mark: 1, GapTo: 1}, api.ErrArg},
 		{api.Step{K: api.SUnmark, To: 2, Mark: 1, Insert: 1}, api.ErrArg},
-		{api.Step{K: api.SUnmark, To: 2, Mark: 1, Slice: tokens("x")}, api.ErrArg},
+		{api.Step{K: api.SUnmark, To: 2, Mark: 1, Slice: sample.Tokens("x")}, api.ErrArg},
 	} {
 		if e := Check(x.s); e != x.want {
 			t.Errorf("Check(%+v) = %d, want %d", short(x.s), e, x.want)
@@ -293,7 +266,7 @@ func TestP9_1CheckIsPlain(t *testing.T) {
 						fields(-1, 4, func(gapTo int) {
 							fields(-1, 3, func(insert int) {
 								fields(-1, 5, func(m int) {
-									s := api.Step{K: k, From: from, To: to, GapFrom: gapFrom, GapTo: gapTo, Insert: insert, Mark: m, Slice: tokens(x)}
+									s := api.Step{K: k, From: from, To: to, GapFrom: gapFrom, GapTo: gapTo, Insert: insert, Mark: m, Slice: sample.Tokens(x)}
 									if got, want := Check(s), plainCheck(s); got != want {
 										t.Fatalf("Check(%+v) = %d, want %d", s, got, want)
 									}
@@ -333,7 +306,7 @@ func TestP9_2Apply(t *testing.T) {
 		{"<C>", unmarking(1, 2, api.Code), "<c>"},
 		{"<C>", unmarking(1, 2, api.Em), "<C>"},
 	} {
-		if got, e := Apply(tokens(x.l), x.s); !slices.Equal(got, tokens(x.want)) || e != api.OK {
+		if got, e := Apply(sample.Tokens(x.l), x.s); !slices.Equal(got, sample.Tokens(x.want)) || e != api.OK {
 			t.Errorf("Apply(%q, %+v) = %v, %d", x.l, x.s, got, e)
 		}
 	}
@@ -405,7 +378,7 @@ func refusals() []struct {
 
 func TestP9_2ApplyRefuses(t *testing.T) {
 	for _, x := range refusals() {
-		if got, e := Apply(tokens(x.l), x.s); len(got) > 0 || e != x.want {
+		if got, e := Apply(sample.Tokens(x.l), x.s); len(got) > 0 || e != x.want {
 			t.Errorf("Apply(%.9q, %+v) = %v, %d, want %d", x.l, short(x.s), got, e, x.want)
 		}
 	}
@@ -413,7 +386,7 @@ func TestP9_2ApplyRefuses(t *testing.T) {
 
 func TestP9_2InvertRefuses(t *testing.T) {
 	for _, x := range refusals() {
-		if got, e := Invert(tokens(x.l), x.s); !isZero(got) || e != x.want {
+		if got, e := Invert(sample.Tokens(x.l), x.s); !isZero(got) || e != x.want {
 			t.Errorf("Invert(%.9q, %+v) = %v, %d, want %d", x.l, short(x.s), got, e, x.want)
 		}
 	}
@@ -435,7 +408,7 @@ func TestP9_2AtTheLimits(t *testing.T) {
 		{full, around(0, 1, api.MaxDoc-1, api.MaxDoc, "", ""), full[1 : len(full)-1]},
 		{deepest[1 : len(deepest)-1], around(0, 0, 2*api.MaxDeep-2, 2*api.MaxDeep-2, "<", ">"), deepest},
 	} {
-		l, want := tokens(x.l), tokens(x.want)
+		l, want := sample.Tokens(x.l), sample.Tokens(x.want)
 		got, e := Apply(l, x.s)
 		if !slices.Equal(got, want) || e != api.OK {
 			t.Errorf("Apply(%.9q, %+v): %d tokens, %d", x.l, short(x.s), len(got), e)
@@ -479,7 +452,7 @@ func TestP9_2Invert(t *testing.T) {
 		{"<C>", unmarking(1, 2, api.Code), marking(1, 2, api.Code)},
 		{"<_>", unmarking(0, 3, api.Code), marking(0, 3, api.Code)},
 	} {
-		if got, e := Invert(tokens(x.l), x.s); !same(got, x.want) || e != api.OK {
+		if got, e := Invert(sample.Tokens(x.l), x.s); !same(got, x.want) || e != api.OK {
 			t.Errorf("Invert(%q, %+v) = %+v, %d, want %+v", x.l, x.s, got, e, x.want)
 		}
 	}
@@ -583,7 +556,7 @@ func TestP9_3MergeRefuses(t *testing.T) {
 }
 
 func TestP9_3Same(t *testing.T) {
-	one := api.Step{K: 1, From: 2, To: 3, GapFrom: 4, GapTo: 5, Insert: 6, Slice: tokens("ab"), Mark: 7}
+	one := api.Step{K: 1, From: 2, To: 3, GapFrom: 4, GapTo: 5, Insert: 6, Slice: sample.Tokens("ab"), Mark: 7}
 	if !Same(one, one) || !Same(api.Step{}, api.Step{Slice: []api.Token{}}) || !Same(api.Step{Slice: []api.Token{}}, api.Step{}) {
 		t.Error("the same steps are told as others")
 	}
@@ -596,9 +569,9 @@ func TestP9_3Same(t *testing.T) {
 		func(s *api.Step) { s.Insert = 0 },
 		func(s *api.Step) { s.Mark = 0 },
 		func(s *api.Step) { s.Slice = nil },
-		func(s *api.Step) { s.Slice = tokens("a") },
-		func(s *api.Step) { s.Slice = tokens("abc") },
-		func(s *api.Step) { s.Slice = tokens("aB") },
+		func(s *api.Step) { s.Slice = sample.Tokens("a") },
+		func(s *api.Step) { s.Slice = sample.Tokens("abc") },
+		func(s *api.Step) { s.Slice = sample.Tokens("aB") },
 	} {
 		other := one
 		change(&other)
@@ -706,8 +679,8 @@ func TestP9_4Merged(t *testing.T) {
 
 // TestWhatIsHandedInStays hands in lists with room behind them, and writes over all that is answered.
 func TestWhatIsHandedInStays(t *testing.T) {
-	room := tokens("<abCd><xyz>")
-	l, slice := room[:6], tokens("xyEz")
+	room := sample.Tokens("<abCd><xyz>")
+	l, slice := room[:6], sample.Tokens("xyEz")
 	for _, s := range []api.Step{
 		{From: 2, To: 2},
 		{From: 2, To: 2, Slice: slice[:0]},
@@ -730,7 +703,7 @@ func TestWhatIsHandedInStays(t *testing.T) {
 		for _, x := range [][]api.Token{then, back.Slice, one.Slice, other.Slice} {
 			clear(x[:cap(x)])
 		}
-		if !slices.Equal(room, tokens("<abCd><xyz>")) || !slices.Equal(slice, tokens("xyEz")) {
+		if !slices.Equal(room, sample.Tokens("<abCd><xyz>")) || !slices.Equal(slice, sample.Tokens("xyEz")) {
 			t.Fatalf("%+v: the lists have become %v, %v", s, room, slice)
 		}
 	}

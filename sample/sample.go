@@ -1,0 +1,71 @@
+// Package sample writes down tokens for the tests of all layers; the program does not call it.
+package sample
+
+import (
+	"slices"
+
+	"emender/api"
+)
+
+// Tokens answers those of a text: < opens a para, # a head of 1, ( a quote, ` a block of code, [ a list, { an item, > ) ' ] } end, _ is a rule, ! a wrong token; B is a b that is Strong, E an e that is Em, D a d that is both, C a c that is Code; others are themselves.
+func Tokens(s string) []api.Token {
+	var l []api.Token
+	for _, r := range s {
+		l = append(l, token(r))
+	}
+	return l
+}
+
+func token(r rune) api.Token {
+	switch r {
+	case '<':
+		return Open(api.Para, 0)
+	case '#':
+		return Open(api.Head, 1)
+	case '(':
+		return Open(api.Quote, 0)
+	case '`':
+		return Open(api.Block, 0)
+	case '[':
+		return Open(api.List, 0)
+	case '{':
+		return Open(api.Item, 0)
+	case '>', ')', '\'', ']', '}':
+		return api.Token{K: api.TClose}
+	case '_':
+		return api.Token{K: api.TLeaf, T: api.Rule}
+	case '!':
+		return api.Token{N: -1}
+	case 'B':
+		return api.Token{N: 'b', M: api.Strong}
+	case 'E':
+		return api.Token{N: 'e', M: api.Em}
+	case 'D':
+		return api.Token{N: 'd', M: api.Strong + api.Em}
+	case 'C':
+		return api.Token{N: 'c', M: api.Code}
+	}
+	return api.Token{N: int(r)}
+}
+
+// Open answers a TOpen of the type t with n.
+func Open(t int, n int) api.Token {
+	return api.Token{K: api.TOpen, T: t, N: n}
+}
+
+// Rows answers all rows of at most most tokens of alphabet.
+func Rows(alphabet []api.Token, most int) [][]api.Token {
+	all := [][]api.Token{nil}
+	last := all
+	for range most {
+		var next [][]api.Token
+		for _, l := range last {
+			for _, one := range alphabet {
+				next = append(next, append(slices.Clone(l), one))
+			}
+		}
+		all = append(all, next...)
+		last = next
+	}
+	return all
+}
