@@ -21,23 +21,6 @@ func text(s string, marks string) []api.Token {
 	return l
 }
 
-// lines answers all lines of at most most pieces.
-func lines(pieces []string, most int) []string {
-	all := []string{""}
-	last := all
-	for range most {
-		var next []string
-		for _, s := range last {
-			for _, p := range pieces {
-				next = append(next, s+p)
-			}
-		}
-		all = append(all, next...)
-		last = next
-	}
-	return all
-}
-
 // plainParse reads a line as the chapter tells it, piece by piece.
 func plainParse(s string) []api.Token {
 	var l []api.Token
@@ -198,7 +181,7 @@ func TestP14_1Parse(t *testing.T) {
 }
 
 func TestP14_1ParseOfAllShortLines(t *testing.T) {
-	for _, s := range lines([]string{`\`, "`", "*", "_", "a", "€"}, 6) {
+	for _, s := range sample.Texts([]string{`\`, "`", "*", "_", "a", "€"}, 6) {
 		parses(t, s, plainParse(s))
 	}
 }
@@ -327,7 +310,7 @@ func TestP14_3ParseUndoesPrint(t *testing.T) {
 		undone(t, l)
 	}
 	for set := range 5 {
-		for _, s := range lines([]string{`\`, "`", "*", "_", "€"}, 4) {
+		for _, s := range sample.Texts([]string{`\`, "`", "*", "_", "€"}, 4) {
 			l := []api.Token{}
 			for _, r := range s {
 				l = append(l, api.Token{N: int(r), M: set})

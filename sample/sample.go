@@ -1,8 +1,9 @@
-// Package sample writes down tokens for the tests of all layers; the program does not call it.
+// Package sample writes down tokens and texts for the tests of all layers; the program does not call it.
 package sample
 
 import (
 	"slices"
+	"strings"
 
 	"emender/api"
 )
@@ -53,12 +54,12 @@ func Open(t int, n int) api.Token {
 	return api.Token{K: api.TOpen, T: t, N: n}
 }
 
-// Rows answers all rows of at most most tokens of alphabet.
-func Rows(alphabet []api.Token, most int) [][]api.Token {
-	all := [][]api.Token{nil}
+// Rows answers all rows of at most most of what is in alphabet.
+func Rows[T any](alphabet []T, most int) [][]T {
+	all := [][]T{nil}
 	last := all
 	for range most {
-		var next [][]api.Token
+		var next [][]T
 		for _, l := range last {
 			for _, one := range alphabet {
 				next = append(next, append(slices.Clone(l), one))
@@ -66,6 +67,15 @@ func Rows(alphabet []api.Token, most int) [][]api.Token {
 		}
 		all = append(all, next...)
 		last = next
+	}
+	return all
+}
+
+// Texts answers all texts of at most most pieces.
+func Texts(pieces []string, most int) []string {
+	var all []string
+	for _, row := range Rows(pieces, most) {
+		all = append(all, strings.Join(row, ""))
 	}
 	return all
 }

@@ -31,3 +31,9 @@ func TestRows(t *testing.T) {
 		t.Errorf("Rows: %q", all)
 	}
 }
+
+func TestTexts(t *testing.T) {
+	if got, want := Texts([]string{"a", "bc"}, 2), []string{"", "a", "bc", "aa", "abc", "bca", "bcbc"}; !slices.Equal(got, want) {
+		t.Errorf("Texts: %q", got)
+	}
+}
