@@ -1,4 +1,4 @@
-// Package sample writes down tokens and texts for the tests of all layers; the program does not call it.
+// Package sample writes down tokens, steps and texts for the tests of all layers; the program does not call it.
 package sample
 
 import (
@@ -52,6 +52,19 @@ func token(r rune) api.Token {
 // Open answers a TOpen of the type t with n.
 func Open(t int, n int) api.Token {
 	return api.Token{K: api.TOpen, T: t, N: n}
+}
+
+// Replace answers the SReplace that puts the tokens of slice between from and to.
+func Replace(from int, to int, slice string) api.Step {
+	return api.Step{K: api.SReplace, From: from, To: to, Slice: Tokens(slice)}
+}
+
+// Around answers the SAround that puts the tokens of ahead and of behind around its gap.
+func Around(from int, gapFrom int, gapTo int, to int, ahead string, behind string) api.Step {
+	return api.Step{
+		K: api.SAround, From: from, To: to, GapFrom: gapFrom, GapTo: gapTo,
+		Slice: Tokens(ahead + behind), Insert: len(Tokens(ahead)),
+	}
 }
 
 // Rows answers all rows of at most most of what is in alphabet.

@@ -1,6 +1,7 @@
 package sample
 
 import (
+	"reflect"
 	"slices"
 	"testing"
 
@@ -15,6 +16,17 @@ func TestTokens(t *testing.T) {
 	}
 	if got := Tokens("<#(`[{>)']}_!BEDCx\n€"); !slices.Equal(got, want) {
 		t.Errorf("Tokens: %v", got)
+	}
+}
+
+func TestSteps(t *testing.T) {
+	x := api.Token{N: 'x'}
+	if got, want := Replace(1, 2, "x"), (api.Step{From: 1, To: 2, Slice: []api.Token{x}}); !reflect.DeepEqual(got, want) {
+		t.Errorf("Replace: %v", got)
+	}
+	want := api.Step{K: 1, From: 1, To: 4, GapFrom: 2, GapTo: 3, Insert: 2, Slice: []api.Token{{N: '€'}, x, {K: 2}}}
+	if got := Around(1, 2, 3, 4, "€x", ">"); !reflect.DeepEqual(got, want) {
+		t.Errorf("Around: %v", got)
 	}
 }
 

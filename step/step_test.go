@@ -14,14 +14,6 @@ import (
 	"emender/sample"
 )
 
-func replace(from, to int, slice string) api.Step {
-	return api.Step{From: from, To: to, Slice: sample.Tokens(slice)}
-}
-
-func around(from, gapFrom, gapTo, to int, ahead, behind string) api.Step {
-	return api.Step{K: api.SAround, From: from, To: to, GapFrom: gapFrom, GapTo: gapTo, Insert: len(ahead), Slice: sample.Tokens(ahead + behind)}
-}
-
 func marking(from, to, m int) api.Step {
 	return api.Step{K: api.SMark, From: from, To: to, Mark: m}
 }
@@ -68,11 +60,11 @@ func steps(most int, put []string) []api.Step {
 				all = append(all, marking(from, to, m), unmarking(from, to, m))
 			}
 			for _, x := range put {
-				all = append(all, replace(from, to, x))
+				all = append(all, sample.Replace(from, to, x))
 				for gapFrom := from; gapFrom < to; gapFrom++ {
 					for gapTo := gapFrom + 1; gapTo <= to; gapTo++ {
 						for n := range len(x) + 1 {
-							all = append(all, around(from, gapFrom, gapTo, to, x[:n], x[n:]))
+							all = append(all, sample.Around(from, gapFrom, gapTo, to, x[:n], x[n:]))
 						}
 					}
 				}
@@ -177,19 +169,19 @@ func TestP9_1Check(t *testing.T) {
 	}{
 		{api.Step{}, api.OK},
 		{api.Step{Slice: []api.Token{}}, api.OK},
-		{replace(1, 1, "x"), api.OK},
-		{replace(0, api.MaxDoc, full), api.OK},
-		{replace(api.MaxDoc, api.MaxDoc, "><_)("), api.OK},
-		{around(0, 0, 4, 4, "(", ")"), api.OK},
-		{around(0, 1, 2, api.MaxDoc, "", ""), api.OK},
-		{around(0, 0, 1, 1, full, ""), api.OK},
-		{around(0, 0, 1, 1, "", full), api.OK},
-		{around(api.MaxDoc-1, api.MaxDoc-1, api.MaxDoc, api.MaxDoc, "", ""), api.OK},
+		{sample.Replace(1, 1, "x"), api.OK},
+		{sample.Replace(0, api.MaxDoc, full), api.OK},
+		{sample.Replace(api.MaxDoc, api.MaxDoc, "><_)("), api.OK},
+		{sample.Around(0, 0, 4, 4, "(", ")"), api.OK},
+		{sample.Around(0, 1, 2, api.MaxDoc, "", ""), api.OK},
+		{sample.Around(0, 0, 1, 1, full, ""), api.OK},
+		{sample.Around(0, 0, 1, 1, "", full), api.OK},
+		{sample.Around(api.MaxDoc-1, api.MaxDoc-1, api.MaxDoc, api.MaxDoc, "", ""), api.OK},
 		{marking(0, 1, api.Strong), api.OK},
 		{marking(0, api.MaxDoc, api.Em), api.OK},
 		{unmarking(api.MaxDoc-1, api.MaxDoc, api.Code), api.OK},
 
-		{replace(0, 0, full+"x"), api.ErrLong},
+		{sample.Replace(0, 0, full+"x"), api.ErrLong},
 		{api.Step{K: -1, From: -1, Slice: sample.Tokens(full + "!")}, api.ErrLong},
 		{api.Step{K: api.SMark, To: 1, Mark: 1, Slice: sample.Tokens(full + "x")}, api.ErrLong},
 
@@ -197,28 +189,28 @@ func TestP9_1Check(t *testing.T) {
 		{api.Step{K: 4}, api.ErrArg},
 		{api.Step{K: math.MinInt}, api.ErrArg},
 		{api.Step{K: math.MaxInt}, api.ErrArg},
-		{replace(-1, 0, ""), api.ErrArg},
-		{replace(math.MinInt, math.MaxInt, ""), api.ErrArg},
-		{replace(2, 1, ""), api.ErrArg},
-		{replace(0, api.MaxDoc+1, ""), api.ErrArg},
-		{replace(api.MaxDoc+1, api.MaxDoc+1, ""), api.ErrArg},
-		{replace(0, math.MaxInt, ""), api.ErrArg},
-		{replace(0, 0, "x!"), api.ErrArg},
-		{replace(0, 0, full[1:]+"!"), api.ErrArg},
+		{sample.Replace(-1, 0, ""), api.ErrArg},
+		{sample.Replace(math.MinInt, math.MaxInt, ""), api.ErrArg},
+		{sample.Replace(2, 1, ""), api.ErrArg},
+		{sample.Replace(0, api.MaxDoc+1, ""), api.ErrArg},
+		{sample.Replace(api.MaxDoc+1, api.MaxDoc+1, ""), api.ErrArg},
+		{sample.Replace(0, math.MaxInt, ""), api.ErrArg},
+		{sample.Replace(0, 0, "x!"), api.ErrArg},
+		{sample.Replace(0, 0, full[1:]+"!"), api.ErrArg},
 		{api.Step{Mark: 1}, api.ErrArg},
 		{api.Step{GapFrom: 1, To: 2}, api.ErrArg},
 		{api.Step{GapTo: 1, To: 2}, api.ErrArg},
 		{api.Step{Insert: 1, Slice: sample.Tokens("x")}, api.ErrArg},
 
-		{around(1, 0, 2, 2, "", ""), api.ErrArg},
-		{around(0, 1, 1, 2, "", ""), api.ErrArg},
-		{around(0, 2, 1, 2, "", ""), api.ErrArg},
-		{around(0, 1, 3, 2, "", ""), api.ErrArg},
-		{around(0, math.MinInt, math.MaxInt, 2, "", ""), api.ErrArg},
-		{around(-1, 0, 1, 1, "", ""), api.ErrArg},
-		{around(0, 0, 1, api.MaxDoc+1, "", ""), api.ErrArg},
-		{around(0, 0, 1, 1, "!", ""), api.ErrArg},
-		{around(0, 0, 1, 1, "", "!"), api.ErrArg},
+		{sample.Around(1, 0, 2, 2, "", ""), api.ErrArg},
+		{sample.Around(0, 1, 1, 2, "", ""), api.ErrArg},
+		{sample.Around(0, 2, 1, 2, "", ""), api.ErrArg},
+		{sample.Around(0, 1, 3, 2, "", ""), api.ErrArg},
+		{sample.Around(0, math.MinInt, math.MaxInt, 2, "", ""), api.ErrArg},
+		{sample.Around(-1, 0, 1, 1, "", ""), api.ErrArg},
+		{sample.Around(0, 0, 1, api.MaxDoc+1, "", ""), api.ErrArg},
+		{sample.Around(0, 0, 1, 1, "!", ""), api.ErrArg},
+		{sample.Around(0, 0, 1, 1, "", "!"), api.ErrArg},
 		{api.Step{K: api.SAround, To: 1, GapTo: 1, Insert: -1, Slice: sample.Tokens("()")}, api.ErrArg},
 		{api.Step{K: api.SAround, To: 1, GapTo: 1, Insert: 3, Slice: sample.Tokens("()")}, api.ErrArg},
 		{api.Step{K: api.SAround, To: 1, GapTo: 1, Insert: 1}, api.ErrArg},
@@ -286,18 +278,18 @@ func TestP9_2Apply(t *testing.T) {
 		s    api.Step
 		want string
 	}{
-		{"<>", replace(1, 1, "x"), "<x>"},
+		{"<>", sample.Replace(1, 1, "x"), "<x>"},
 		{"", api.Step{}, ""},
-		{"", replace(0, 0, "<a>"), "<a>"},
-		{"<a>", replace(0, 3, ""), ""},
-		{"<ab>", replace(2, 3, "><x"), "<a><x>"},
-		{"<a><b>", replace(2, 4, ""), "<ab>"},
-		{"<a>", replace(0, 1, "("), "(a>"},
-		{"<ab>", around(0, 0, 4, 4, "(", ")"), "(<ab>)"},
-		{"(<ab>)", around(0, 1, 5, 6, "", ""), "<ab>"},
-		{"<abcd>", around(1, 2, 4, 5, "xy", "z"), "<xybcz>"},
-		{"<abcd>", around(1, 2, 4, 5, "xyz", ""), "<xyzbc>"},
-		{"<abcd>", around(1, 2, 4, 5, "", "xyz"), "<bcxyz>"},
+		{"", sample.Replace(0, 0, "<a>"), "<a>"},
+		{"<a>", sample.Replace(0, 3, ""), ""},
+		{"<ab>", sample.Replace(2, 3, "><x"), "<a><x>"},
+		{"<a><b>", sample.Replace(2, 4, ""), "<ab>"},
+		{"<a>", sample.Replace(0, 1, "("), "(a>"},
+		{"<ab>", sample.Around(0, 0, 4, 4, "(", ")"), "(<ab>)"},
+		{"(<ab>)", sample.Around(0, 1, 5, 6, "", ""), "<ab>"},
+		{"<abcd>", sample.Around(1, 2, 4, 5, "xy", "z"), "<xybcz>"},
+		{"<abcd>", sample.Around(1, 2, 4, 5, "xyz", ""), "<xyzbc>"},
+		{"<abcd>", sample.Around(1, 2, 4, 5, "", "xyz"), "<bcxyz>"},
 		{"<bB_>", marking(0, 5, api.Strong), "<BB_>"},
 		{"<bB>", marking(1, 2, api.Strong), "<BB>"},
 		{"<C>", marking(0, 3, api.Em), "<C>"},
@@ -333,46 +325,46 @@ func refusals() []struct {
 } {
 	full := "<" + strings.Repeat("x", api.MaxDoc-2) + ">"
 	deepest := strings.Repeat("<", api.MaxDeep) + strings.Repeat(">", api.MaxDeep)
-	wrong, long := api.Step{K: 4}, replace(0, 0, full+"x")
+	wrong, long := api.Step{K: 4}, sample.Replace(0, 0, full+"x")
 	return []struct {
 		l    string
 		s    api.Step
 		want api.Errno
 	}{
 		{full + "x", wrong, api.ErrLong},
-		{full + "!", replace(0, 0, ""), api.ErrLong},
+		{full + "!", sample.Replace(0, 0, ""), api.ErrLong},
 		{"x>", wrong, api.ErrForm},
 		{"<!", long, api.ErrForm},
 		{"<" + deepest + ">", wrong, api.ErrDeep},
 		{"<", wrong, api.ErrShort},
 		{"<", long, api.ErrShort},
-		{"<", replace(1, 1, ">"), api.ErrShort},
+		{"<", sample.Replace(1, 1, ">"), api.ErrShort},
 		{"<>", long, api.ErrLong},
 		{"<>", wrong, api.ErrArg},
 		{"<>", marking(1, 1, 1), api.ErrArg},
-		{"<>", replace(3, 3, full), api.ErrArg},
-		{"<>", replace(0, 3, ""), api.ErrArg},
-		{"", replace(0, 1, ""), api.ErrArg},
+		{"<>", sample.Replace(3, 3, full), api.ErrArg},
+		{"<>", sample.Replace(0, 3, ""), api.ErrArg},
+		{"", sample.Replace(0, 1, ""), api.ErrArg},
 		{"", marking(0, 1, 1), api.ErrArg},
-		{"<a>", around(0, 0, 3, 4, "(", ")"), api.ErrArg},
-		{"<a>", replace(0, api.MaxDoc, full), api.ErrArg},
-		{"<>", replace(1, 1, full), api.ErrLong},
-		{full, replace(1, 1, "x"), api.ErrLong},
-		{full, replace(1, 2, "xx"), api.ErrLong},
-		{full, replace(1, 1, "<"), api.ErrLong},
-		{full, around(1, 1, 2, 2, "x", ""), api.ErrLong},
-		{full, around(1, 1, 2, 2, "", "x"), api.ErrLong},
-		{full, around(1, 2, 3, 3, "x", "x"), api.ErrLong},
-		{"<a>", replace(0, 1, ""), api.ErrForm},
-		{"<a>", replace(2, 3, ""), api.ErrForm},
-		{"<a>", replace(3, 3, ">"), api.ErrForm},
-		{"<a>", replace(3, 3, "<"), api.ErrForm},
-		{"<a>", replace(0, 0, ">"), api.ErrForm},
-		{"<a>", around(0, 0, 3, 3, ")", "("), api.ErrForm},
-		{"<a>", around(0, 0, 3, 3, "((", ")"), api.ErrForm},
-		{deepest, replace(api.MaxDeep, api.MaxDeep, "<>"), api.ErrDeep},
-		{deepest, around(0, 0, 2*api.MaxDeep, 2*api.MaxDeep, "(", ")"), api.ErrDeep},
-		{deepest, replace(api.MaxDeep, api.MaxDeep, "<"), api.ErrDeep},
+		{"<a>", sample.Around(0, 0, 3, 4, "(", ")"), api.ErrArg},
+		{"<a>", sample.Replace(0, api.MaxDoc, full), api.ErrArg},
+		{"<>", sample.Replace(1, 1, full), api.ErrLong},
+		{full, sample.Replace(1, 1, "x"), api.ErrLong},
+		{full, sample.Replace(1, 2, "xx"), api.ErrLong},
+		{full, sample.Replace(1, 1, "<"), api.ErrLong},
+		{full, sample.Around(1, 1, 2, 2, "x", ""), api.ErrLong},
+		{full, sample.Around(1, 1, 2, 2, "", "x"), api.ErrLong},
+		{full, sample.Around(1, 2, 3, 3, "x", "x"), api.ErrLong},
+		{"<a>", sample.Replace(0, 1, ""), api.ErrForm},
+		{"<a>", sample.Replace(2, 3, ""), api.ErrForm},
+		{"<a>", sample.Replace(3, 3, ">"), api.ErrForm},
+		{"<a>", sample.Replace(3, 3, "<"), api.ErrForm},
+		{"<a>", sample.Replace(0, 0, ">"), api.ErrForm},
+		{"<a>", sample.Around(0, 0, 3, 3, ")", "("), api.ErrForm},
+		{"<a>", sample.Around(0, 0, 3, 3, "((", ")"), api.ErrForm},
+		{deepest, sample.Replace(api.MaxDeep, api.MaxDeep, "<>"), api.ErrDeep},
+		{deepest, sample.Around(0, 0, 2*api.MaxDeep, 2*api.MaxDeep, "(", ")"), api.ErrDeep},
+		{deepest, sample.Replace(api.MaxDeep, api.MaxDeep, "<"), api.ErrDeep},
 	}
 }
 
@@ -400,13 +392,13 @@ func TestP9_2AtTheLimits(t *testing.T) {
 		s    api.Step
 		want string
 	}{
-		{"", replace(0, 0, full), full},
-		{full, replace(0, api.MaxDoc, ""), ""},
-		{full, replace(0, api.MaxDoc, full), full},
-		{full, replace(1, 2, "x"), full},
-		{full[1 : len(full)-1], around(0, 0, api.MaxDoc-2, api.MaxDoc-2, "<", ">"), full},
-		{full, around(0, 1, api.MaxDoc-1, api.MaxDoc, "", ""), full[1 : len(full)-1]},
-		{deepest[1 : len(deepest)-1], around(0, 0, 2*api.MaxDeep-2, 2*api.MaxDeep-2, "<", ">"), deepest},
+		{"", sample.Replace(0, 0, full), full},
+		{full, sample.Replace(0, api.MaxDoc, ""), ""},
+		{full, sample.Replace(0, api.MaxDoc, full), full},
+		{full, sample.Replace(1, 2, "x"), full},
+		{full[1 : len(full)-1], sample.Around(0, 0, api.MaxDoc-2, api.MaxDoc-2, "<", ">"), full},
+		{full, sample.Around(0, 1, api.MaxDoc-1, api.MaxDoc, "", ""), full[1 : len(full)-1]},
+		{deepest[1 : len(deepest)-1], sample.Around(0, 0, 2*api.MaxDeep-2, 2*api.MaxDeep-2, "<", ">"), deepest},
 	} {
 		l, want := sample.Tokens(x.l), sample.Tokens(x.want)
 		got, e := Apply(l, x.s)
@@ -429,25 +421,25 @@ func TestP9_2Invert(t *testing.T) {
 		s, want api.Step
 	}{
 		{"", api.Step{}, api.Step{}},
-		{"<>", replace(1, 1, "x"), replace(1, 2, "")},
-		{"<ab>", replace(2, 3, "><x"), replace(2, 5, "b")},
-		{"<ab>", replace(0, 4, ""), replace(0, 0, "<ab>")},
-		{"<ab>", around(0, 0, 4, 4, "(", ")"), around(0, 1, 5, 6, "", "")},
-		{"(<ab>)", around(0, 1, 5, 6, "", ""), around(0, 0, 4, 4, "(", ")")},
-		{"<abcd>", around(1, 2, 4, 5, "xy", "z"), around(1, 3, 5, 6, "a", "d")},
-		{"<abcde>", around(1, 3, 4, 6, "", "xyz"), around(1, 1, 2, 5, "ab", "de")},
-		{"<abcde>", around(1, 1, 4, 6, "xyz", ""), around(1, 4, 7, 7, "", "de")},
+		{"<>", sample.Replace(1, 1, "x"), sample.Replace(1, 2, "")},
+		{"<ab>", sample.Replace(2, 3, "><x"), sample.Replace(2, 5, "b")},
+		{"<ab>", sample.Replace(0, 4, ""), sample.Replace(0, 0, "<ab>")},
+		{"<ab>", sample.Around(0, 0, 4, 4, "(", ")"), sample.Around(0, 1, 5, 6, "", "")},
+		{"(<ab>)", sample.Around(0, 1, 5, 6, "", ""), sample.Around(0, 0, 4, 4, "(", ")")},
+		{"<abcd>", sample.Around(1, 2, 4, 5, "xy", "z"), sample.Around(1, 3, 5, 6, "a", "d")},
+		{"<abcde>", sample.Around(1, 3, 4, 6, "", "xyz"), sample.Around(1, 1, 2, 5, "ab", "de")},
+		{"<abcde>", sample.Around(1, 1, 4, 6, "xyz", ""), sample.Around(1, 4, 7, 7, "", "de")},
 		{"<ab>", marking(0, 4, api.Em), unmarking(0, 4, api.Em)},
 		{"<ab>", marking(0, 1, api.Em), unmarking(0, 1, api.Em)},
 		{"<aB>", marking(0, 4, api.Em), unmarking(0, 4, api.Em)},
 		{"<aC>", marking(1, 3, api.Em), unmarking(1, 3, api.Em)},
-		{"<aC>", marking(1, 3, api.Code), replace(1, 3, "aC")},
-		{"<B>", marking(1, 2, api.Code), replace(1, 2, "B")},
-		{"<aE>", marking(0, 4, api.Em), replace(0, 4, "<aE>")},
+		{"<aC>", marking(1, 3, api.Code), sample.Replace(1, 3, "aC")},
+		{"<B>", marking(1, 2, api.Code), sample.Replace(1, 2, "B")},
+		{"<aE>", marking(0, 4, api.Em), sample.Replace(0, 4, "<aE>")},
 		{"<aE>", marking(1, 2, api.Em), unmarking(1, 2, api.Em)},
 		{"<BB>", unmarking(0, 4, api.Strong), marking(0, 4, api.Strong)},
-		{"<Bb>", unmarking(0, 4, api.Strong), replace(0, 4, "<Bb>")},
-		{"<b>", unmarking(1, 2, api.Strong), replace(1, 2, "b")},
+		{"<Bb>", unmarking(0, 4, api.Strong), sample.Replace(0, 4, "<Bb>")},
+		{"<b>", unmarking(1, 2, api.Strong), sample.Replace(1, 2, "b")},
 		{"<C>", unmarking(1, 2, api.Strong), marking(1, 2, api.Strong)},
 		{"<C>", unmarking(1, 2, api.Code), marking(1, 2, api.Code)},
 		{"<_>", unmarking(0, 3, api.Code), marking(0, 3, api.Code)},
@@ -465,12 +457,12 @@ func TestP9_3Map(t *testing.T) {
 		want []api.Range
 	}{
 		{api.Step{}, []api.Range{{}}},
-		{replace(5, 8, "x"), []api.Range{{At: 5, Old: 3, New: 1}}},
-		{replace(0, api.MaxDoc, full), []api.Range{{Old: api.MaxDoc, New: api.MaxDoc}}},
-		{around(0, 0, 4, 4, "(", ")"), []api.Range{{New: 1}, {At: 4, New: 1}}},
-		{around(1, 3, 6, 10, "abc", "de"), []api.Range{{At: 1, Old: 2, New: 3}, {At: 6, Old: 4, New: 2}}},
-		{around(2, 2, 3, 3, "", ""), []api.Range{{At: 2}, {At: 3}}},
-		{around(0, 0, 1, 1, full, ""), []api.Range{{New: api.MaxDoc}, {At: 1}}},
+		{sample.Replace(5, 8, "x"), []api.Range{{At: 5, Old: 3, New: 1}}},
+		{sample.Replace(0, api.MaxDoc, full), []api.Range{{Old: api.MaxDoc, New: api.MaxDoc}}},
+		{sample.Around(0, 0, 4, 4, "(", ")"), []api.Range{{New: 1}, {At: 4, New: 1}}},
+		{sample.Around(1, 3, 6, 10, "abc", "de"), []api.Range{{At: 1, Old: 2, New: 3}, {At: 6, Old: 4, New: 2}}},
+		{sample.Around(2, 2, 3, 3, "", ""), []api.Range{{At: 2}, {At: 3}}},
+		{sample.Around(0, 0, 1, 1, full, ""), []api.Range{{New: api.MaxDoc}, {At: 1}}},
 		{marking(1, 5, api.Em), nil},
 		{unmarking(0, api.MaxDoc, api.Code), nil},
 	} {
@@ -481,7 +473,7 @@ func TestP9_3Map(t *testing.T) {
 	for _, x := range []struct {
 		s    api.Step
 		want api.Errno
-	}{{replace(0, 0, full+"x"), api.ErrLong}, {api.Step{K: 4}, api.ErrArg}, {replace(2, 1, ""), api.ErrArg}, {marking(1, 1, 1), api.ErrArg}, {around(0, 1, 1, 2, "", ""), api.ErrArg}} {
+	}{{sample.Replace(0, 0, full+"x"), api.ErrLong}, {api.Step{K: 4}, api.ErrArg}, {sample.Replace(2, 1, ""), api.ErrArg}, {marking(1, 1, 1), api.ErrArg}, {sample.Around(0, 1, 1, 2, "", ""), api.ErrArg}} {
 		if got, e := Map(x.s); len(got) > 0 || e != x.want {
 			t.Errorf("Map(%+v) = %v, %d", short(x.s), got, e)
 		}
@@ -493,17 +485,17 @@ func TestP9_3Merge(t *testing.T) {
 	for _, x := range []struct {
 		a, b, want api.Step
 	}{
-		{replace(1, 1, "x"), replace(2, 3, "y"), replace(1, 2, "xy")},
-		{replace(1, 1, "x"), replace(2, 2, "y"), replace(1, 1, "xy")},
-		{replace(3, 5, "x"), replace(4, 9, ""), replace(3, 10, "x")},
-		{replace(3, 5, "x"), replace(1, 3, "yz"), replace(1, 5, "yzx")},
-		{replace(3, 3, "x"), replace(3, 3, "y"), replace(3, 3, "yx")},
-		{replace(3, 5, ""), replace(3, 3, "y"), replace(3, 5, "y")},
-		{replace(3, 5, ""), replace(3, 4, "y"), replace(3, 6, "y")},
-		{replace(3, 5, ""), replace(2, 3, ""), replace(2, 5, "")},
+		{sample.Replace(1, 1, "x"), sample.Replace(2, 3, "y"), sample.Replace(1, 2, "xy")},
+		{sample.Replace(1, 1, "x"), sample.Replace(2, 2, "y"), sample.Replace(1, 1, "xy")},
+		{sample.Replace(3, 5, "x"), sample.Replace(4, 9, ""), sample.Replace(3, 10, "x")},
+		{sample.Replace(3, 5, "x"), sample.Replace(1, 3, "yz"), sample.Replace(1, 5, "yzx")},
+		{sample.Replace(3, 3, "x"), sample.Replace(3, 3, "y"), sample.Replace(3, 3, "yx")},
+		{sample.Replace(3, 5, ""), sample.Replace(3, 3, "y"), sample.Replace(3, 5, "y")},
+		{sample.Replace(3, 5, ""), sample.Replace(3, 4, "y"), sample.Replace(3, 6, "y")},
+		{sample.Replace(3, 5, ""), sample.Replace(2, 3, ""), sample.Replace(2, 5, "")},
 		{api.Step{}, api.Step{}, api.Step{}},
-		{replace(0, 0, half), replace(api.MaxDoc/2, api.MaxDoc/2, half), replace(0, 0, half+half)},
-		{replace(0, api.MaxDoc-1, ""), replace(0, 1, ""), replace(0, api.MaxDoc, "")},
+		{sample.Replace(0, 0, half), sample.Replace(api.MaxDoc/2, api.MaxDoc/2, half), sample.Replace(0, 0, half+half)},
+		{sample.Replace(0, api.MaxDoc-1, ""), sample.Replace(0, 1, ""), sample.Replace(0, api.MaxDoc, "")},
 		{marking(1, 3, api.Em), marking(3, 5, api.Em), marking(1, 5, api.Em)},
 		{marking(3, 5, api.Em), marking(1, 3, api.Em), marking(1, 5, api.Em)},
 		{marking(1, 5, api.Em), marking(2, 3, api.Em), marking(1, 5, api.Em)},
@@ -520,22 +512,22 @@ func TestP9_3Merge(t *testing.T) {
 func TestP9_3MergeRefuses(t *testing.T) {
 	half, full := strings.Repeat("x", api.MaxDoc/2), strings.Repeat("x", api.MaxDoc)
 	for _, x := range []struct{ a, b api.Step }{
-		{replace(1, 1, "x"), replace(4, 4, "")},
-		{replace(1, 1, "xy"), replace(2, 2, "z")},
-		{replace(1, 1, "xy"), replace(0, 2, "z")},
-		{replace(1, 1, "xy"), replace(1, 2, "z")},
-		{replace(1, 1, "xy"), replace(0, 5, "z")},
-		{replace(5, 5, "x"), replace(1, 4, "")},
-		{replace(0, 0, half), replace(api.MaxDoc/2, api.MaxDoc/2, half+"x")},
-		{replace(0, 0, full), replace(0, 0, "x")},
-		{replace(0, api.MaxDoc, ""), replace(0, 1, "")},
-		{replace(0, 0, "x"), api.Step{From: 1, To: 0}},
-		{api.Step{From: 2, To: 1}, replace(2, 2, "x")},
-		{replace(0, 0, "!"), replace(1, 1, "x")},
-		{replace(0, 0, "x"), replace(1, 1, "!")},
-		{replace(0, 0, full+"x"), replace(0, 0, "")},
-		{replace(1, 2, ""), marking(1, 2, 1)},
-		{marking(1, 2, 1), replace(1, 2, "")},
+		{sample.Replace(1, 1, "x"), sample.Replace(4, 4, "")},
+		{sample.Replace(1, 1, "xy"), sample.Replace(2, 2, "z")},
+		{sample.Replace(1, 1, "xy"), sample.Replace(0, 2, "z")},
+		{sample.Replace(1, 1, "xy"), sample.Replace(1, 2, "z")},
+		{sample.Replace(1, 1, "xy"), sample.Replace(0, 5, "z")},
+		{sample.Replace(5, 5, "x"), sample.Replace(1, 4, "")},
+		{sample.Replace(0, 0, half), sample.Replace(api.MaxDoc/2, api.MaxDoc/2, half+"x")},
+		{sample.Replace(0, 0, full), sample.Replace(0, 0, "x")},
+		{sample.Replace(0, api.MaxDoc, ""), sample.Replace(0, 1, "")},
+		{sample.Replace(0, 0, "x"), api.Step{From: 1, To: 0}},
+		{api.Step{From: 2, To: 1}, sample.Replace(2, 2, "x")},
+		{sample.Replace(0, 0, "!"), sample.Replace(1, 1, "x")},
+		{sample.Replace(0, 0, "x"), sample.Replace(1, 1, "!")},
+		{sample.Replace(0, 0, full+"x"), sample.Replace(0, 0, "")},
+		{sample.Replace(1, 2, ""), marking(1, 2, 1)},
+		{marking(1, 2, 1), sample.Replace(1, 2, "")},
 		{marking(1, 3, api.Em), marking(4, 5, api.Em)},
 		{marking(4, 5, api.Em), marking(1, 3, api.Em)},
 		{marking(1, 3, api.Em), marking(1, 3, api.Strong)},
@@ -543,11 +535,11 @@ func TestP9_3MergeRefuses(t *testing.T) {
 		{unmarking(1, 3, api.Em), marking(3, 5, api.Em)},
 		{unmarking(1, 3, 0), unmarking(1, 3, 0)},
 		{marking(1, 1, 1), marking(1, 2, 1)},
-		{around(0, 0, 4, 4, "(", ")"), around(0, 0, 6, 6, "(", ")")},
-		{around(0, 1, 2, 3, "", ""), around(0, 1, 2, 3, "", "")},
-		{around(0, 0, 4, 4, "", ""), replace(0, 0, "")},
+		{sample.Around(0, 0, 4, 4, "(", ")"), sample.Around(0, 0, 6, 6, "(", ")")},
+		{sample.Around(0, 1, 2, 3, "", ""), sample.Around(0, 1, 2, 3, "", "")},
+		{sample.Around(0, 0, 4, 4, "", ""), sample.Replace(0, 0, "")},
 		{api.Step{K: 4}, api.Step{K: 4}},
-		{replace(math.MaxInt, math.MaxInt, "x"), replace(math.MinInt, math.MinInt, "")},
+		{sample.Replace(math.MaxInt, math.MaxInt, "x"), sample.Replace(math.MinInt, math.MinInt, "")},
 	} {
 		if got, ok := Merge(x.a, x.b); !isZero(got) || ok {
 			t.Errorf("Merge(%+v, %+v) = %+v, %v", short(x.a), short(x.b), short(got), ok)
