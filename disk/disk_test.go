@@ -469,20 +469,10 @@ func TestP17_1AsTheWordsTell(t *testing.T) {
 	}
 }
 
-// mixed answers n numbers below most, each time the same ones.
-func mixed(seed uint32, n int, most int) []int {
-	l := make([]int, n)
-	for i := range l {
-		seed = seed*1664525 + 1013904223
-		l[i] = int(seed>>8) % most
-	}
-	return l
-}
-
 func TestP17_1LongRowsAsTheWordsTell(t *testing.T) {
 	for _, most := range []int{0, 1, 7, 64, 1000, 5000} {
 		p := &pair{d: made(t, most), s: spoken{most: most}}
-		kinds, sizes := mixed(uint32(most), 1500, 9), mixed(uint32(most)+1, 1500, most/3+2)
+		kinds, sizes := sample.Mixed(uint32(most), 1500, 9), sample.Mixed(uint32(most)+1, 1500, most/3+2)
 		for i, k := range kinds {
 			a := act{k: actAppend, n: sizes[i]}
 			switch k {

@@ -1,4 +1,4 @@
-// Package sample writes down tokens, steps and texts for the tests of all layers; the program does not call it.
+// Package sample writes down tokens, steps, texts and mixed numbers for the tests of all layers; the program does not call it.
 package sample
 
 import (
@@ -91,4 +91,14 @@ func Texts(pieces []string, most int) []string {
 		all = append(all, strings.Join(row, ""))
 	}
 	return all
+}
+
+// Mixed answers n numbers below most in no plain order, of one seed each time the same ones.
+func Mixed(seed uint32, n int, most int) []int {
+	l := make([]int, n)
+	for i := range l {
+		seed = seed*1664525 + 1013904223
+		l[i] = int(seed>>8) % most
+	}
+	return l
 }

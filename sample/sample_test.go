@@ -49,3 +49,16 @@ func TestTexts(t *testing.T) {
 		t.Errorf("Texts: %q", got)
 	}
 }
+
+func TestMixed(t *testing.T) {
+	l := Mixed(7, 200, 5)
+	if len(l) != 200 || slices.Min(l) != 0 || slices.Max(l) != 4 || slices.IsSorted(l) {
+		t.Errorf("Mixed: %v", l)
+	}
+	if !slices.Equal(l, Mixed(7, 200, 5)) || slices.Equal(l, Mixed(8, 200, 5)) {
+		t.Error("Mixed: the seed does not tell the numbers")
+	}
+	if l := Mixed(7, 0, 5); len(l) != 0 {
+		t.Errorf("Mixed of none: %v", l)
+	}
+}
