@@ -3,6 +3,7 @@ package codec
 import (
 	"emender/api"
 	"emender/flat"
+	"emender/record"
 	"emender/step"
 )
 
@@ -22,14 +23,14 @@ func checkDoc(l []api.Token) api.Errno {
 }
 
 func checkEntry(e api.Entry) api.Errno {
-	if !isClient(e.Who) || e.Seq < 0 || e.Seq > mostNumber {
+	if !record.IsClient(e.Who) || e.Seq < 0 || e.Seq > mostNumber {
 		return api.ErrArg
 	}
 	return step.Check(e.S)
 }
 
 func checkMsg(m api.Msg) api.Errno {
-	if !isKind(m.K) || !isClient(m.Who) || m.Version < 0 || m.Version > api.MaxLog {
+	if !isKind(m.K) || !record.IsClient(m.Who) || m.Version < 0 || m.Version > api.MaxLog {
 		return api.ErrArg
 	}
 	if len(m.L) > api.MaxLog {
@@ -46,8 +47,4 @@ func checkMsg(m api.Msg) api.Errno {
 // isKind leaves MDoc out: it has a document behind its version where a message has entries, and rooms write it on their own.
 func isKind(k int) bool {
 	return k == api.MSubmit || k == api.MAsk || k == api.MTold
-}
-
-func isClient(who int) bool {
-	return 0 <= who && who < api.MaxClients
 }

@@ -7,6 +7,7 @@ import (
 
 	"emender/allow"
 	"emender/api"
+	"emender/record"
 	"emender/schema"
 )
 
@@ -64,7 +65,7 @@ func (s *state) add(house *schema.Schema, one api.Entry) api.Errno {
 	if len(s.log) >= api.MaxLog {
 		return api.ErrFull
 	}
-	s.log = append(s.log, clone(one))
+	s.log = append(s.log, record.Clone(one))
 	s.doc = doc
 	s.last[one.Who] = one.Seq
 	return api.OK
@@ -75,18 +76,4 @@ func (s *state) lastOf(who int) int {
 		return seq
 	}
 	return noSeq
-}
-
-// cloned answers entries in memory of their own, slices too.
-func cloned(l []api.Entry) []api.Entry {
-	var all []api.Entry
-	for _, one := range l {
-		all = append(all, clone(one))
-	}
-	return all
-}
-
-func clone(one api.Entry) api.Entry {
-	one.S.Slice = slices.Clone(one.S.Slice)
-	return one
 }
